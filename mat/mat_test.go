@@ -7,13 +7,8 @@ import (
 
 	"rankmere/api"
 	"rankmere/plain"
+	"rankmere/sample"
 )
-
-// outside are numbers that are no elements.
-var outside = []int{
-	-1, -2, -api.Prime + 1, -api.Prime, -api.Prime - 1, api.Prime, api.Prime + 1, 2*api.Prime - 1, 2 * api.Prime,
-	api.MaxNum, -api.MaxNum, 1 << 32, 1<<32 + 5, -1 << 32, math.MaxInt, math.MinInt, math.MinInt + 1,
-}
 
 // edges are elements at their limits, and some others of all sizes.
 var edges = []int{
@@ -30,90 +25,10 @@ var badSizes = []int{
 	0, -1, -2, -5, -6, 6, 7, 10, 1_000, api.MaxNum, 1 << 32, 1<<32 + 1, -1 << 32, math.MaxInt, math.MinInt,
 }
 
-// filled returns a matrix that has n everywhere.
-func filled(rows, columns, n int) [][]int {
-	m := make([][]int, rows)
-	for i := range m {
-		m[i] = slices.Repeat([]int{n}, columns)
-	}
-	return m
-}
-
-// with returns a matrix of zeros but for one element.
-func with(rows, columns, i, j, n int) [][]int {
-	m := filled(rows, columns, 0)
-	m[i][j] = n
-	return m
-}
-
-// unit returns the identity matrix.
-func unit(n int) [][]int {
-	m := filled(n, n, 0)
-	for i := range m {
-		m[i][i] = 1
-	}
-	return m
-}
-
-// mixed returns a matrix of elements that follow no plain rule; another seed
-// makes another one.
-func mixed(rows, columns, seed int) [][]int {
-	m := filled(rows, columns, 0)
-	state := uint32(seed)*2_654_435_761 + 12_345
-	for _, row := range m {
-		for j := range row {
-			state = state*1_664_525 + 1_013_904_223
-			row[j] = int(state>>8) % 9_973
-		}
-	}
-	return m
-}
-
-// cloned returns a copy in new memory.
-func cloned(m [][]int) [][]int {
-	l := make([][]int, len(m))
-	for i, row := range m {
-		l[i] = slices.Clone(row)
-	}
-	return l
-}
-
-// same tells whether two matrices are equal.
-func same(a, b [][]int) bool {
-	return slices.EqualFunc(a, b, slices.Equal)
-}
-
-// plainMul adds up the products of elements, whose sums need no more than an
-// int.
-func plainMul(a, b [][]int) [][]int {
-	var product [][]int
-	for i := range a {
-		var row []int
-		for j := range b[0] {
-			sum := 0
-			for k := range b {
-				sum += a[i][k] * b[k][j]
-			}
-			row = append(row, sum%9_973)
-		}
-		product = append(product, row)
-	}
-	return product
-}
-
-// forSizes calls f with all numbers of rows and columns that a matrix may have.
-func forSizes(f func(rows, columns int)) {
-	for rows := 1; rows <= 5; rows++ {
-		for columns := 1; columns <= 5; columns++ {
-			f(rows, columns)
-		}
-	}
-}
-
 // wantAdd fails the test unless Add returns this and no error.
 func wantAdd(t *testing.T, a, b, want [][]int) {
 	t.Helper()
-	if got, err := Add(a, b); !same(got, want) || err != nil {
+	if got, err := Add(a, b); !sample.Same(got, want) || err != nil {
 		t.Fatalf("Add(%v, %v) = %v, %v, want %v", a, b, got, err, want)
 	}
 }
@@ -121,7 +36,7 @@ func wantAdd(t *testing.T, a, b, want [][]int) {
 // wantMul fails the test unless Mul returns this and no error.
 func wantMul(t *testing.T, a, b, want [][]int) {
 	t.Helper()
-	if got, err := Mul(a, b); !same(got, want) || err != nil {
+	if got, err := Mul(a, b); !sample.Same(got, want) || err != nil {
 		t.Fatalf("Mul(%v, %v) = %v, %v, want %v", a, b, got, err, want)
 	}
 }
@@ -129,7 +44,7 @@ func wantMul(t *testing.T, a, b, want [][]int) {
 // wantTurn fails the test unless Turn returns this and no error.
 func wantTurn(t *testing.T, m, want [][]int) {
 	t.Helper()
-	if got, err := Turn(m); !same(got, want) || err != nil {
+	if got, err := Turn(m); !sample.Same(got, want) || err != nil {
 		t.Fatalf("Turn(%v) = %v, %v, want %v", m, got, err, want)
 	}
 }
@@ -137,7 +52,7 @@ func wantTurn(t *testing.T, m, want [][]int) {
 // wantPow fails the test unless Pow returns this and no error.
 func wantPow(t *testing.T, m [][]int, n int, want [][]int) {
 	t.Helper()
-	if got, err := Pow(m, n); !same(got, want) || err != nil {
+	if got, err := Pow(m, n); !sample.Same(got, want) || err != nil {
 		t.Fatalf("Pow(%v, %d) = %v, %v, want %v", m, n, got, err, want)
 	}
 }
@@ -179,13 +94,13 @@ func wantBad(t *testing.T, m [][]int, want api.Errno) {
 	for _, n := range []int{0, 1, 2, 1_000, -1, 1_001, math.MaxInt, math.MinInt} {
 		wantPowError(t, m, n, want)
 	}
-	for _, good := range [][][]int{{{1}}, {{1, 2}}, {{1}, {2}}, unit(2), unit(5)} {
+	for _, good := range [][][]int{{{1}}, {{1, 2}}, {{1}, {2}}, sample.Unit(2), sample.Unit(5)} {
 		wantAddError(t, m, good, want)
 		wantAddError(t, good, m, want)
 		wantMulError(t, m, good, want)
 		wantMulError(t, good, m, want)
 	}
-	for _, bad := range [][][]int{m, nil, {nil}, {{1, 2}, {3}}, {{-1}}, filled(6, 1, 1)} {
+	for _, bad := range [][][]int{m, nil, {nil}, {{1, 2}, {3}}, {{-1}}, sample.Filled(6, 1, 1)} {
 		wantAddError(t, m, bad, want)
 		wantMulError(t, m, bad, want)
 	}
@@ -203,16 +118,16 @@ func TestCheck(t *testing.T) {
 	wantGood(t, [][]int{{0}})
 	wantGood(t, [][]int{{9_972}})
 	wantGood(t, [][]int{{1, 2}, {3, 4}})
-	forSizes(func(rows, columns int) {
-		wantGood(t, filled(rows, columns, 0))
-		wantGood(t, filled(rows, columns, 9_972))
-		wantGood(t, mixed(rows, columns, 1))
+	for rows, columns := range sample.Sizes() {
+		wantGood(t, sample.Filled(rows, columns, 0))
+		wantGood(t, sample.Filled(rows, columns, 9_972))
+		wantGood(t, sample.Mixed(rows, columns, 1))
 		for i := range rows {
 			for j := range columns {
-				wantGood(t, with(rows, columns, i, j, 9_972))
+				wantGood(t, sample.With(rows, columns, i, j, 9_972))
 			}
 		}
-	})
+	}
 	for n := range 9_973 {
 		wantGood(t, [][]int{{n}})
 	}
@@ -229,9 +144,9 @@ func TestAdd(t *testing.T) {
 		{[][]int{{1}, {2}}, [][]int{{3}, {4}}, [][]int{{4}, {6}}},
 		{[][]int{{1, 2}, {3, 4}}, [][]int{{50, 60}, {70, 80}}, [][]int{{51, 62}, {73, 84}}},
 		{[][]int{{1, 2, 3}, {4, 5, 6}}, [][]int{{9_972, 0, 1}, {9_970, 4_000, 9_966}}, [][]int{{0, 2, 4}, {1, 4_005, 9_972}}},
-		{[][]int{{1, 2}, {3, 4}, {5, 6}}, [][]int{{6, 5}, {4, 3}, {2, 1}}, filled(3, 2, 7)},
-		{filled(5, 5, 9_972), filled(5, 5, 9_972), filled(5, 5, 9_971)},
-		{filled(5, 5, 9_972), filled(5, 5, 1), filled(5, 5, 0)},
+		{[][]int{{1, 2}, {3, 4}, {5, 6}}, [][]int{{6, 5}, {4, 3}, {2, 1}}, sample.Filled(3, 2, 7)},
+		{sample.Filled(5, 5, 9_972), sample.Filled(5, 5, 9_972), sample.Filled(5, 5, 9_971)},
+		{sample.Filled(5, 5, 9_972), sample.Filled(5, 5, 1), sample.Filled(5, 5, 0)},
 	} {
 		wantAdd(t, c.a, c.b, c.want)
 		wantAdd(t, c.b, c.a, c.want)
@@ -239,10 +154,10 @@ func TestAdd(t *testing.T) {
 }
 
 func TestAddOfAllSizes(t *testing.T) {
-	forSizes(func(rows, columns int) {
+	for rows, columns := range sample.Sizes() {
 		for seed := range 50 {
-			a, b := mixed(rows, columns, seed), mixed(rows, columns, seed+1_000)
-			want := filled(rows, columns, 0)
+			a, b := sample.Mixed(rows, columns, seed), sample.Mixed(rows, columns, seed+1_000)
+			want := sample.Filled(rows, columns, 0)
 			for i := range rows {
 				for j := range columns {
 					want[i][j] = (a[i][j] + b[i][j]) % 9_973
@@ -250,10 +165,10 @@ func TestAddOfAllSizes(t *testing.T) {
 			}
 			wantAdd(t, a, b, want)
 			wantAdd(t, b, a, want)
-			wantAdd(t, a, filled(rows, columns, 0), a)
-			wantAdd(t, filled(rows, columns, 0), a, a)
+			wantAdd(t, a, sample.Filled(rows, columns, 0), a)
+			wantAdd(t, sample.Filled(rows, columns, 0), a, a)
 		}
-	})
+	}
 }
 
 func TestAddOfEdges(t *testing.T) {
@@ -276,31 +191,31 @@ func TestMul(t *testing.T) {
 		{[][]int{{1, 2, 3}, {4, 5, 6}}, [][]int{{7, 8}, {9, 10}, {11, 12}}, [][]int{{58, 64}, {139, 154}}},
 		{[][]int{{7, 8}, {9, 10}, {11, 12}}, [][]int{{1, 2, 3}, {4, 5, 6}}, [][]int{{39, 54, 69}, {49, 68, 87}, {59, 82, 105}}},
 		{[][]int{{1_234, 5_678}}, [][]int{{9_972, 1}, {4_987, 9_971}}, [][]int{{1_605, 9_824}}},
-		{filled(5, 5, 9_972), filled(5, 5, 9_972), filled(5, 5, 5)},
-		{filled(1, 5, 9_972), filled(5, 1, 9_972), [][]int{{5}}},
-		{filled(5, 1, 9_972), filled(1, 5, 9_972), filled(5, 5, 1)},
-		{filled(2, 3, 9_972), filled(3, 4, 1), filled(2, 4, 9_970)},
+		{sample.Filled(5, 5, 9_972), sample.Filled(5, 5, 9_972), sample.Filled(5, 5, 5)},
+		{sample.Filled(1, 5, 9_972), sample.Filled(5, 1, 9_972), [][]int{{5}}},
+		{sample.Filled(5, 1, 9_972), sample.Filled(1, 5, 9_972), sample.Filled(5, 5, 1)},
+		{sample.Filled(2, 3, 9_972), sample.Filled(3, 4, 1), sample.Filled(2, 4, 9_970)},
 	} {
 		wantMul(t, c.a, c.b, c.want)
 	}
 }
 
 func TestMulOfAllSizes(t *testing.T) {
-	forSizes(func(rows, between int) {
+	for rows, between := range sample.Sizes() {
 		for columns := 1; columns <= 5; columns++ {
 			for seed := range 20 {
-				a, b := mixed(rows, between, seed), mixed(between, columns, seed+1_000)
-				wantMul(t, a, b, plainMul(a, b))
+				a, b := sample.Mixed(rows, between, seed), sample.Mixed(between, columns, seed+1_000)
+				wantMul(t, a, b, sample.Mul(a, b))
 			}
-			a, b := filled(rows, between, 9_972), filled(between, columns, 9_972)
-			wantMul(t, a, b, filled(rows, columns, between))
-			wantMul(t, a, filled(between, columns, 0), filled(rows, columns, 0))
-			wantMul(t, filled(rows, between, 0), b, filled(rows, columns, 0))
+			a, b := sample.Filled(rows, between, 9_972), sample.Filled(between, columns, 9_972)
+			wantMul(t, a, b, sample.Filled(rows, columns, between))
+			wantMul(t, a, sample.Filled(between, columns, 0), sample.Filled(rows, columns, 0))
+			wantMul(t, sample.Filled(rows, between, 0), b, sample.Filled(rows, columns, 0))
 		}
-		a := mixed(rows, between, 7)
-		wantMul(t, a, unit(between), a)
-		wantMul(t, unit(rows), a, a)
-	})
+		a := sample.Mixed(rows, between, 7)
+		wantMul(t, a, sample.Unit(between), a)
+		wantMul(t, sample.Unit(rows), a, a)
+	}
 }
 
 // TestMulOfSingleElements has one element in each matrix that is not zero: the
@@ -310,11 +225,11 @@ func TestMulOfSingleElements(t *testing.T) {
 		for j := range 5 {
 			for k := range 5 {
 				for l := range 3 {
-					want := filled(4, 3, 0)
+					want := sample.Filled(4, 3, 0)
 					if j == k {
 						want[i][l] = 9_971
 					}
-					wantMul(t, with(4, 5, i, j, 9_972), with(5, 3, k, l, 2), want)
+					wantMul(t, sample.With(4, 5, i, j, 9_972), sample.With(5, 3, k, l, 2), want)
 				}
 			}
 		}
@@ -339,14 +254,14 @@ func TestTurn(t *testing.T) {
 		{[][]int{{1, 2, 3}, {4, 5, 6}}, [][]int{{1, 4}, {2, 5}, {3, 6}}},
 		{[][]int{{1, 2, 3, 4, 5}}, [][]int{{1}, {2}, {3}, {4}, {5}}},
 		{[][]int{{1, 2}, {3, 4}, {5, 6}, {7, 8}, {9, 10}}, [][]int{{1, 3, 5, 7, 9}, {2, 4, 6, 8, 10}}},
-		{unit(5), unit(5)},
+		{sample.Unit(5), sample.Unit(5)},
 	} {
 		wantTurn(t, c.m, c.want)
 		wantTurn(t, c.want, c.m)
 	}
-	forSizes(func(rows, columns int) {
+	for rows, columns := range sample.Sizes() {
 		for seed := range 20 {
-			m, want := mixed(rows, columns, seed), filled(columns, rows, 0)
+			m, want := sample.Mixed(rows, columns, seed), sample.Filled(columns, rows, 0)
 			for i, row := range m {
 				for j, n := range row {
 					want[j][i] = n
@@ -355,7 +270,7 @@ func TestTurn(t *testing.T) {
 			wantTurn(t, m, want)
 			wantTurn(t, want, m)
 		}
-	})
+	}
 }
 
 func TestOne(t *testing.T) {
@@ -367,7 +282,7 @@ func TestOne(t *testing.T) {
 		5: {{1, 0, 0, 0, 0}, {0, 1, 0, 0, 0}, {0, 0, 1, 0, 0}, {0, 0, 0, 1, 0}, {0, 0, 0, 0, 1}},
 	} {
 		got, err := One(n)
-		if n > 0 && (!same(got, want) || err != nil) {
+		if n > 0 && (!sample.Same(got, want) || err != nil) {
 			t.Errorf("One(%d) = %v, %v, want %v", n, got, err, want)
 		}
 	}
@@ -398,15 +313,15 @@ func TestPow(t *testing.T) {
 		{[][]int{{1, 2}, {3, 4}}, 5, [][]int{{1_069, 1_558}, {2_337, 3_406}}},
 		{[][]int{{1, 1}, {0, 1}}, 1_000, [][]int{{1, 1_000}, {0, 1}}},
 		{[][]int{{0, 1}, {0, 0}}, 1, [][]int{{0, 1}, {0, 0}}},
-		{[][]int{{0, 1}, {0, 0}}, 2, filled(2, 2, 0)},
+		{[][]int{{0, 1}, {0, 0}}, 2, sample.Filled(2, 2, 0)},
 		{fibonacci, 10, [][]int{{89, 55}, {55, 34}}},
 		{fibonacci, 999, [][]int{{7_607, 2_844}, {2_844, 4_763}}},
 		{fibonacci, 1_000, [][]int{{478, 7_607}, {7_607, 2_844}}},
-		{ring, 999, unit(3)},
+		{ring, 999, sample.Unit(3)},
 		{ring, 1_000, ring},
-		{filled(5, 5, 9_972), 2, filled(5, 5, 5)},
-		{filled(5, 5, 9_972), 999, filled(5, 5, 6_033)},
-		{filled(5, 5, 9_972), 1_000, filled(5, 5, 9_727)},
+		{sample.Filled(5, 5, 9_972), 2, sample.Filled(5, 5, 5)},
+		{sample.Filled(5, 5, 9_972), 999, sample.Filled(5, 5, 6_033)},
+		{sample.Filled(5, 5, 9_972), 1_000, sample.Filled(5, 5, 9_727)},
 	} {
 		wantPow(t, c.m, c.n, c.want)
 	}
@@ -416,12 +331,12 @@ func TestPow(t *testing.T) {
 func TestPowToAllExponents(t *testing.T) {
 	for n := 1; n <= 5; n++ {
 		for _, m := range [][][]int{
-			filled(n, n, 0), filled(n, n, 1), filled(n, n, 9_972), unit(n), mixed(n, n, 1), mixed(n, n, 2), with(n, n, 0, n-1, 3),
+			sample.Filled(n, n, 0), sample.Filled(n, n, 1), sample.Filled(n, n, 9_972), sample.Unit(n), sample.Mixed(n, n, 1), sample.Mixed(n, n, 2), sample.With(n, n, 0, n-1, 3),
 		} {
-			want := unit(n)
+			want := sample.Unit(n)
 			for exponent := range 1_001 {
 				wantPow(t, m, exponent, want)
-				want = plainMul(want, m)
+				want = sample.Mul(want, m)
 			}
 		}
 	}
@@ -430,8 +345,8 @@ func TestPowToAllExponents(t *testing.T) {
 // TestPlaces checks the order of the places, and that no more of them come once
 // a loop has ended.
 func TestPlaces(t *testing.T) {
-	forSizes(func(rows, columns int) {
-		m := filled(rows, columns, 0)
+	for rows, columns := range sample.Sizes() {
+		m := sample.Filled(rows, columns, 0)
 		for many := 1; many <= rows*columns; many++ {
 			count := 0
 			for i, j := range places(m) {
@@ -447,16 +362,16 @@ func TestPlaces(t *testing.T) {
 				t.Fatalf("%v has %d places, want %d", m, count, many)
 			}
 		}
-	})
+	}
 }
 
 func TestNone(t *testing.T) {
-	six := filled(6, 1, 1)
+	six := sample.Filled(6, 1, 1)
 	six[0] = nil
 	for _, m := range [][][]int{
 		nil, {}, {nil}, {{}}, {nil, nil}, {{}, {}, {}}, {{}, {1}}, {nil, {1, 2}}, {{}, {-1}}, {{}, {9_973}, {1, 2, 3, 4, 5, 6}},
 		// There is no element, whatever else there is too much of.
-		six, filled(6, 0, 0), filled(1_000, 0, 0),
+		six, sample.Filled(6, 0, 0), sample.Filled(1_000, 0, 0),
 	} {
 		wantBad(t, m, api.ErrNone)
 	}
@@ -465,83 +380,83 @@ func TestNone(t *testing.T) {
 func TestFull(t *testing.T) {
 	for size := 1; size <= 5; size++ {
 		for _, many := range []int{6, 7, 10, 100, 1_000} {
-			wantBad(t, filled(size, many, 1), api.ErrFull)
-			wantBad(t, filled(many, size, 1), api.ErrFull)
+			wantBad(t, sample.Filled(size, many, 1), api.ErrFull)
+			wantBad(t, sample.Filled(many, size, 1), api.ErrFull)
 			// The number of elements comes before what they are, and before the
 			// length of later rows.
-			wantBad(t, filled(size, many, -1), api.ErrFull)
-			wantBad(t, filled(many, size, 9_973), api.ErrFull)
-			uneven := filled(many, size, 1)
+			wantBad(t, sample.Filled(size, many, -1), api.ErrFull)
+			wantBad(t, sample.Filled(many, size, 9_973), api.ErrFull)
+			uneven := sample.Filled(many, size, 1)
 			uneven[1] = nil
 			wantBad(t, uneven, api.ErrFull)
-			uneven = append(filled(1, many, 1), []int{1}, nil)
+			uneven = append(sample.Filled(1, many, 1), []int{1}, nil)
 			wantBad(t, uneven, api.ErrFull)
 		}
 	}
-	wantBad(t, filled(6, 6, 1), api.ErrFull)
-	wantBad(t, filled(6, 6, -1), api.ErrFull)
+	wantBad(t, sample.Filled(6, 6, 1), api.ErrFull)
+	wantBad(t, sample.Filled(6, 6, -1), api.ErrFull)
 	// Only the first row may be too long; a later one is longer than that one.
 	wantBad(t, [][]int{{1}, {1, 2, 3, 4, 5, 6}}, api.ErrShape)
 	wantBad(t, [][]int{{1, 2, 3, 4, 5}, {1, 2, 3, 4, 5, 6}}, api.ErrShape)
 }
 
 func TestShape(t *testing.T) {
-	forSizes(func(rows, columns int) {
+	for rows, columns := range sample.Sizes() {
 		for i := 1; i < rows; i++ {
 			for length := range 12 {
 				if length == columns {
 					continue
 				}
-				m := mixed(rows, columns, 3)
-				m[i] = mixed(1, length, 4)[0]
+				m := sample.Mixed(rows, columns, 3)
+				m[i] = sample.Mixed(1, length, 4)[0]
 				wantBad(t, m, api.ErrShape)
 				// The length of a row comes before its elements, and also
 				// before those of the rows behind it.
-				m[i] = filled(1, length, -1)[0]
+				m[i] = sample.Filled(1, length, -1)[0]
 				wantBad(t, m, api.ErrShape)
 				for k := i + 1; k < rows; k++ {
-					m[k] = filled(1, columns, 9_973)[0]
+					m[k] = sample.Filled(1, columns, 9_973)[0]
 				}
 				wantBad(t, m, api.ErrShape)
 			}
 		}
-	})
+	}
 	wantBad(t, [][]int{{1}, nil}, api.ErrShape)
 	wantBad(t, [][]int{{1}, {}}, api.ErrShape)
 }
 
 func TestRange(t *testing.T) {
-	forSizes(func(rows, columns int) {
+	for rows, columns := range sample.Sizes() {
 		for i := range rows {
 			for j := range columns {
-				for _, bad := range outside[:9] {
-					m := mixed(rows, columns, 5)
+				for _, bad := range sample.Outside()[:9] {
+					m := sample.Mixed(rows, columns, 5)
 					m[i][j] = bad
 					wantBad(t, m, api.ErrRange)
 				}
 			}
 		}
-	})
-	for _, bad := range outside {
+	}
+	for _, bad := range sample.Outside() {
 		wantBad(t, [][]int{{bad}}, api.ErrRange)
-		wantBad(t, filled(5, 5, bad), api.ErrRange)
-		wantBad(t, with(5, 5, 0, 0, bad), api.ErrRange)
-		wantBad(t, with(5, 5, 4, 4, bad), api.ErrRange)
+		wantBad(t, sample.Filled(5, 5, bad), api.ErrRange)
+		wantBad(t, sample.With(5, 5, 0, 0, bad), api.ErrRange)
+		wantBad(t, sample.With(5, 5, 4, 4, bad), api.ErrRange)
 	}
 }
 
 // TestRowByRow checks that an element comes before the length of a later row.
 func TestRowByRow(t *testing.T) {
-	forSizes(func(rows, columns int) {
+	for rows, columns := range sample.Sizes() {
 		for i := range rows {
 			for j := range columns {
 				for later := i + 1; later < rows; later++ {
 					for _, bad := range []int{-1, 9_973} {
-						m := mixed(rows, columns, 6)
+						m := sample.Mixed(rows, columns, 6)
 						m[i][j] = bad
 						m[later] = m[later][:columns-1]
 						wantBad(t, m, api.ErrRange)
-						m[later] = filled(1, columns+1, 1)[0]
+						m[later] = sample.Filled(1, columns+1, 1)[0]
 						wantBad(t, m, api.ErrRange)
 						m[later] = nil
 						wantBad(t, m, api.ErrRange)
@@ -549,7 +464,7 @@ func TestRowByRow(t *testing.T) {
 				}
 			}
 		}
-	})
+	}
 }
 
 // TestOrder checks that the errors of a come before those of b.
@@ -560,8 +475,8 @@ func TestOrder(t *testing.T) {
 	}{
 		{nil, api.ErrNone},
 		{[][]int{{}}, api.ErrNone},
-		{filled(6, 1, 1), api.ErrFull},
-		{filled(1, 6, 1), api.ErrFull},
+		{sample.Filled(6, 1, 1), api.ErrFull},
+		{sample.Filled(1, 6, 1), api.ErrFull},
 		{[][]int{{1, 2}, {3}}, api.ErrShape},
 		{[][]int{{1}, {2, 3}}, api.ErrShape},
 		{[][]int{{-1}}, api.ErrRange},
@@ -573,39 +488,39 @@ func TestOrder(t *testing.T) {
 			wantAddError(t, a.m, b.m, a.want)
 			wantMulError(t, a.m, b.m, a.want)
 		}
-		forSizes(func(rows, columns int) {
+		for rows, columns := range sample.Sizes() {
 			// The errors of one matrix come before those of both.
-			good := mixed(rows, columns, 8)
+			good := sample.Mixed(rows, columns, 8)
 			wantAddError(t, good, a.m, a.want)
 			wantAddError(t, a.m, good, a.want)
 			wantMulError(t, good, a.m, a.want)
 			wantMulError(t, a.m, good, a.want)
-		})
+		}
 	}
 }
 
 // TestOtherSizes adds and multiplies matrices of all sizes.
 func TestOtherSizes(t *testing.T) {
-	forSizes(func(rows, columns int) {
-		forSizes(func(otherRows, otherColumns int) {
-			a, b := mixed(rows, columns, 9), mixed(otherRows, otherColumns, 10)
+	for rows, columns := range sample.Sizes() {
+		for otherRows, otherColumns := range sample.Sizes() {
+			a, b := sample.Mixed(rows, columns, 9), sample.Mixed(otherRows, otherColumns, 10)
 			if rows != otherRows || columns != otherColumns {
 				wantAddError(t, a, b, api.ErrShape)
 			}
 			if columns != otherRows {
 				wantMulError(t, a, b, api.ErrShape)
 			} else {
-				wantMul(t, a, b, plainMul(a, b))
+				wantMul(t, a, b, sample.Mul(a, b))
 			}
-		})
-	})
+		}
+	}
 }
 
 func TestPowErrors(t *testing.T) {
-	forSizes(func(rows, columns int) {
+	for rows, columns := range sample.Sizes() {
 		for _, n := range []int{0, 1, 2, 999, 1_000} {
 			if rows != columns {
-				wantPowError(t, mixed(rows, columns, 11), n, api.ErrShape)
+				wantPowError(t, sample.Mixed(rows, columns, 11), n, api.ErrShape)
 			}
 		}
 		for _, n := range badExponents {
@@ -613,58 +528,18 @@ func TestPowErrors(t *testing.T) {
 			if rows != columns {
 				want = api.ErrShape
 			}
-			wantPowError(t, mixed(rows, columns, 11), n, want)
-			wantPowError(t, filled(rows, columns, 0), n, want)
-		}
-	})
-}
-
-// spacious returns a copy that has spare capacity behind all rows and behind the
-// last one, with numbers in it that are no elements.
-func spacious(m [][]int) [][]int {
-	l := make([][]int, len(m), len(m)+2)
-	for i, row := range m {
-		l[i] = append(slices.Clone(row), -71, -72)[:len(row)]
-	}
-	l[:cap(l)][len(m)] = []int{-73}
-	return l
-}
-
-// whole returns a copy of all that a matrix refers to, with spare capacity.
-func whole(m [][]int) [][]int {
-	l := cloned(m[:cap(m)])
-	for i, row := range m[:cap(m)] {
-		l[i] = slices.Clone(row[:cap(row)])
-	}
-	return l
-}
-
-// spoil overwrites all rows and all spare capacity, and fails the test if one
-// row is seen to change with another one.
-func spoil(t *testing.T, m [][]int) {
-	t.Helper()
-	for i, row := range m {
-		row = row[:cap(row)]
-		for j := range row {
-			row[j] = -100 - i
+			wantPowError(t, sample.Mixed(rows, columns, 11), n, want)
+			wantPowError(t, sample.Filled(rows, columns, 0), n, want)
 		}
 	}
-	for i, row := range m {
-		for _, n := range row[:cap(row)] {
-			if n != -100-i {
-				t.Fatalf("row %d shares memory with row %d", i, -100-n)
-			}
-		}
-	}
-	clear(m[:cap(m)])
 }
 
 // checkArguments calls all functions with two matrices, and overwrites the
 // results.
 func checkArguments(t *testing.T, a, b [][]int) {
 	t.Helper()
-	a, b = spacious(a), spacious(b)
-	wantA, wantB := whole(a), whole(b)
+	a, b = sample.Spacious(a), sample.Spacious(b)
+	wantA, wantB := sample.Whole(a), sample.Whole(b)
 	for range 2 {
 		for _, call := range []func() ([][]int, error){
 			func() ([][]int, error) { return nil, Check(a) },
@@ -682,20 +557,24 @@ func checkArguments(t *testing.T, a, b [][]int) {
 			func() ([][]int, error) { return Pow(a, 1_001) },
 		} {
 			first, _ := call()
-			want := cloned(first)
+			want := sample.Clone(first)
 			second, _ := call()
-			spoil(t, second)
-			if !same(first, want) {
+			if !sample.Spoil(second) {
+				t.Fatal("rows of a result share memory")
+			}
+			if !sample.Same(first, want) {
 				t.Fatalf("of %v and %v, two results share memory, or %v is not the same again", wantA, wantB, want)
 			}
-			spoil(t, first)
-			if third, _ := call(); !same(third, want) {
+			if !sample.Spoil(first) {
+				t.Fatal("rows of a result share memory")
+			}
+			if third, _ := call(); !sample.Same(third, want) {
 				t.Fatalf("of %v and %v, the results are first %v and later %v", wantA, wantB, want, third)
 			}
 		}
 	}
-	if !same(whole(a), wantA) || !same(whole(b), wantB) {
-		t.Fatalf("arguments %v and %v became %v and %v", wantA, wantB, whole(a), whole(b))
+	if !sample.Same(sample.Whole(a), wantA) || !sample.Same(sample.Whole(b), wantB) {
+		t.Fatalf("arguments %v and %v became %v and %v", wantA, wantB, sample.Whole(a), sample.Whole(b))
 	}
 }
 
@@ -703,36 +582,38 @@ func checkArguments(t *testing.T, a, b [][]int) {
 // capacity, whatever is done to the results, and that results depend on nothing
 // else.
 func TestArguments(t *testing.T) {
-	forSizes(func(rows, columns int) {
-		a := mixed(rows, columns, 12)
-		checkArguments(t, a, mixed(rows, columns, 13))
-		checkArguments(t, a, mixed(columns, rows, 13))
-		checkArguments(t, a, filled(rows, columns, 0))
-		checkArguments(t, a, unit(columns))
-		checkArguments(t, unit(rows), a)
-		checkArguments(t, filled(rows, columns, 9_973), a)
-		checkArguments(t, a, filled(rows, columns, -1))
-	})
+	for rows, columns := range sample.Sizes() {
+		a := sample.Mixed(rows, columns, 12)
+		checkArguments(t, a, sample.Mixed(rows, columns, 13))
+		checkArguments(t, a, sample.Mixed(columns, rows, 13))
+		checkArguments(t, a, sample.Filled(rows, columns, 0))
+		checkArguments(t, a, sample.Unit(columns))
+		checkArguments(t, sample.Unit(rows), a)
+		checkArguments(t, sample.Filled(rows, columns, 9_973), a)
+		checkArguments(t, a, sample.Filled(rows, columns, -1))
+	}
 	checkArguments(t, nil, nil)
-	checkArguments(t, filled(6, 6, 1), filled(6, 6, 1))
+	checkArguments(t, sample.Filled(6, 6, 1), sample.Filled(6, 6, 1))
 	checkArguments(t, [][]int{{1, 2}, {3}}, [][]int{{1}, {2, 3}})
 }
 
 // TestSharedArguments has rows that are the same memory, or overlap.
 func TestSharedArguments(t *testing.T) {
-	line := mixed(1, 12, 14)[0]
+	line := sample.Mixed(1, 12, 14)[0]
 	before := slices.Clone(line)
 	m := [][]int{line[:5], line[:5], line[2:7], line[7:12], line[1:6]}
-	alone := cloned(m)
-	wantAdd(t, m, m, plainMul(alone, [][]int{{2, 0, 0, 0, 0}, {0, 2, 0, 0, 0}, {0, 0, 2, 0, 0}, {0, 0, 0, 2, 0}, {0, 0, 0, 0, 2}}))
-	wantMul(t, m, m, plainMul(alone, alone))
-	wantPow(t, m, 3, plainMul(plainMul(alone, alone), alone))
+	alone := sample.Clone(m)
+	wantAdd(t, m, m, sample.Mul(alone, [][]int{{2, 0, 0, 0, 0}, {0, 2, 0, 0, 0}, {0, 0, 2, 0, 0}, {0, 0, 0, 2, 0}, {0, 0, 0, 0, 2}}))
+	wantMul(t, m, m, sample.Mul(alone, alone))
+	wantPow(t, m, 3, sample.Mul(sample.Mul(alone, alone), alone))
 	turned, err := Turn(m)
 	if err != nil {
 		t.Fatal(err)
 	}
 	wantTurn(t, turned, alone)
-	spoil(t, turned)
+	if !sample.Spoil(turned) {
+		t.Fatal("rows of a result share memory")
+	}
 	if !slices.Equal(line, before) {
 		t.Fatalf("%v became %v", before, line)
 	}

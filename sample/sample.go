@@ -1,0 +1,190 @@
+// Package sample makes matrices for the tests of other packages, and looks at
+// what happens to them.
+//
+// It uses none of the packages that it helps to test, and the numbers of the
+// document instead of the constants.
+package sample
+
+import (
+	"iter"
+	"math"
+	"slices"
+)
+
+// Outside returns numbers that are no elements of the field, those next to its
+// elements first.
+func Outside() []int {
+	return []int{
+		-1, 9_973, -2, 9_974, -9_972, -9_973, -9_974, 19_945, 19_946, 1_000_000, -1_000_000,
+		1 << 32, 1<<32 + 5, -1 << 32, math.MaxInt, math.MinInt, math.MinInt + 1,
+	}
+}
+
+// Sizes yields all numbers of rows and columns that a matrix may have.
+func Sizes() iter.Seq2[int, int] {
+	return func(yield func(rows, columns int) bool) {
+		for rows := 1; rows <= 5; rows++ {
+			for columns := 1; columns <= 5; columns++ {
+				if !yield(rows, columns) {
+					return
+				}
+			}
+		}
+	}
+}
+
+// Filled returns a matrix that has n everywhere.
+func Filled(rows, columns, n int) [][]int {
+	m := make([][]int, rows)
+	for i := range m {
+		m[i] = slices.Repeat([]int{n}, columns)
+	}
+	return m
+}
+
+// With returns a matrix of zeros but for one element.
+func With(rows, columns, i, j, n int) [][]int {
+	m := Filled(rows, columns, 0)
+	m[i][j] = n
+	return m
+}
+
+// Unit returns the identity matrix.
+func Unit(n int) [][]int {
+	m := Filled(n, n, 0)
+	for i := range m {
+		m[i][i] = 1
+	}
+	return m
+}
+
+// Mixed returns a matrix of elements that follow no plain rule; another seed
+// makes another one.
+func Mixed(rows, columns, seed int) [][]int {
+	m := Filled(rows, columns, 0)
+	state := uint32(seed)*2_654_435_761 + 12_345
+	for _, row := range m {
+		for j := range row {
+			state = state*1_664_525 + 1_013_904_223
+			row[j] = int(state>>8) % 9_973
+		}
+	}
+	return m
+}
+
+// Invertible returns a square matrix that has an inverse, as it is the product
+// of matrices with no zero on the diagonal, and zeros above or below it.
+func Invertible(n, seed int) [][]int {
+	low, up := Mixed(n, n, seed), Mixed(n, n, seed+500)
+	for i := range n {
+		low[i][i] = 1 + low[i][i]%9_972
+		up[i][i] = 1 + up[i][i]%9_972
+		clear(low[i][i+1:])
+		clear(up[i][:i])
+	}
+	return Mul(up, low)
+}
+
+// Mul returns the product of two matrices. Its sums of at most 5 products need
+// no more than an int.
+func Mul(a, b [][]int) [][]int {
+	product := Filled(len(a), len(b[0]), 0)
+	for i, row := range product {
+		for j := range row {
+			for k := range b {
+				row[j] += a[i][k] * b[k][j]
+			}
+			row[j] %= 9_973
+		}
+	}
+	return product
+}
+
+// Det returns the determinant of a square matrix, from those of the matrices
+// without the first row and one column.
+func Det(m [][]int) int {
+	if len(m) == 0 {
+		return 1
+	}
+	sum := 0
+	for j, n := range m[0] {
+		sum += (1 - j%2*2) * n * Det(Without(m, 0, j))
+	}
+	return (sum%9_973 + 9_973) % 9_973
+}
+
+// Without returns a matrix without one row and one column.
+func Without(m [][]int, i, j int) [][]int {
+	var part [][]int
+	for _, row := range slices.Concat(m[:i], m[i+1:]) {
+		part = append(part, slices.Concat(row[:j], row[j+1:]))
+	}
+	return part
+}
+
+// Orders returns all orders of the rows of m.
+func Orders(m [][]int) [][][]int {
+	if len(m) == 0 {
+		return [][][]int{nil}
+	}
+	var l [][][]int
+	for i, row := range m {
+		for _, rest := range Orders(slices.Concat(m[:i], m[i+1:])) {
+			l = append(l, append([][]int{row}, rest...))
+		}
+	}
+	return l
+}
+
+// Same tells whether two matrices are equal.
+func Same(a, b [][]int) bool {
+	return slices.EqualFunc(a, b, slices.Equal)
+}
+
+// Clone returns a copy in new memory.
+func Clone(m [][]int) [][]int {
+	l := make([][]int, len(m))
+	for i, row := range m {
+		l[i] = slices.Clone(row)
+	}
+	return l
+}
+
+// Spacious returns a copy that has spare capacity behind all rows and behind the
+// last one, with numbers in it that are no elements.
+func Spacious(m [][]int) [][]int {
+	l := make([][]int, len(m), len(m)+2)
+	for i, row := range m {
+		l[i] = append(slices.Clone(row), -71, -72)[:len(row)]
+	}
+	l[:cap(l)][len(m)] = []int{-73}
+	return l
+}
+
+// Whole returns a copy of all that a matrix refers to, with spare capacity.
+func Whole(m [][]int) [][]int {
+	l := Clone(m[:cap(m)])
+	for i, row := range m[:cap(m)] {
+		l[i] = slices.Clone(row[:cap(row)])
+	}
+	return l
+}
+
+// Spoil overwrites all rows and all spare capacity, and tells whether no two
+// rows share memory.
+func Spoil(m [][]int) bool {
+	for i, row := range m {
+		row = row[:cap(row)]
+		for j := range row {
+			row[j] = -100 - i
+		}
+	}
+	alone := true
+	for i, row := range m {
+		for _, n := range row[:cap(row)] {
+			alone = alone && n == -100-i
+		}
+	}
+	clear(m[:cap(m)])
+	return alone
+}
