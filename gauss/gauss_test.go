@@ -9,61 +9,6 @@ import (
 	"rankmere/sample"
 )
 
-// subsets returns all lists of this many numbers below n in increasing order.
-func subsets(n, many int) [][]int {
-	var l [][]int
-	for set := range 1 << n {
-		var numbers []int
-		for k := range n {
-			if set>>k&1 == 1 {
-				numbers = append(numbers, k)
-			}
-		}
-		if len(numbers) == many {
-			l = append(l, numbers)
-		}
-	}
-	return l
-}
-
-// form returns a matrix in reduced row echelon form that has these pivots. Its
-// other elements are taken from those of a matrix of the same size.
-func form(pivots []int, m [][]int) [][]int {
-	l := sample.Filled(len(m), len(m[0]), 0)
-	for i, pivot := range pivots {
-		for j := pivot + 1; j < len(m[0]); j++ {
-			if !slices.Contains(pivots, j) {
-				l[i][j] = m[i][j]
-			}
-		}
-		l[i][pivot] = 1
-	}
-	return l
-}
-
-// plainRank is the size of the largest part of m, made by leaving out rows and
-// columns, whose determinant is not 0.
-func plainRank(m [][]int) int {
-	for size := min(len(m), len(m[0])); size > 0; size-- {
-		for _, rows := range subsets(len(m), size) {
-			for _, columns := range subsets(len(m[0]), size) {
-				var part [][]int
-				for _, i := range rows {
-					var row []int
-					for _, j := range columns {
-						row = append(row, m[i][j])
-					}
-					part = append(part, row)
-				}
-				if sample.Det(part) != 0 {
-					return size
-				}
-			}
-		}
-	}
-	return 0
-}
-
 // reduced tells whether a matrix is in reduced row echelon form with these
 // pivots.
 func reduced(m [][]int, pivots []int) bool {
@@ -124,7 +69,7 @@ func wantReduced(t *testing.T, m [][]int) {
 	if product := sample.Mul(factors, got); !sample.Same(product, m) {
 		t.Fatalf("Steps(%v) = %v, %v, whose rows only make %v", m, got, pivots, product)
 	}
-	if want := plainRank(m); len(pivots) != want {
+	if want := sample.Rank(m); len(pivots) != want {
 		t.Fatalf("Steps(%v) = %v, %v, but the rank is %d", m, got, pivots, want)
 	}
 	if rank, err := Rank(m); rank != len(pivots) || err != nil {
@@ -197,14 +142,14 @@ func TestSteps(t *testing.T) {
 func TestForms(t *testing.T) {
 	for rows, columns := range sample.Sizes() {
 		for rank := 0; rank <= min(rows, columns); rank++ {
-			for _, pivots := range subsets(columns, rank) {
+			for _, pivots := range sample.Subsets(columns, rank) {
 				for seed := range 10 {
-					want := form(pivots, sample.Mixed(rows, columns, seed))
+					want := sample.Form(pivots, sample.Mixed(rows, columns, seed))
 					wantSteps(t, want, want, pivots...)
 					wantSteps(t, sample.Mul(sample.Invertible(rows, seed), want), want, pivots...)
 				}
 				for _, n := range []int{0, 1, 9_972} {
-					want := form(pivots, sample.Filled(rows, columns, n))
+					want := sample.Form(pivots, sample.Filled(rows, columns, n))
 					wantSteps(t, want, want, pivots...)
 					wantSteps(t, sample.Mul(sample.Invertible(rows, n), want), want, pivots...)
 				}
@@ -363,101 +308,17 @@ func TestRank(t *testing.T) {
 	for rows, columns := range sample.Sizes() {
 		for between := 1; between <= 5; between++ {
 			m := sample.Mul(sample.Mixed(rows, between, 1), sample.Mixed(between, columns, 2))
-			if got, err := Rank(m); got != plainRank(m) || err != nil {
-				t.Errorf("Rank(%v) = %d, %v, want %d", m, got, err, plainRank(m))
+			if got, err := Rank(m); got != sample.Rank(m) || err != nil {
+				t.Errorf("Rank(%v) = %d, %v, want %d", m, got, err, sample.Rank(m))
 			}
 		}
 	}
 }
 
-func TestNone(t *testing.T) {
-	six := sample.Filled(6, 1, 1)
-	six[0] = nil
-	for _, m := range [][][]int{
-		nil, {}, {nil}, {{}}, {nil, nil}, {{}, {}, {}}, {{}, {1}}, {nil, {1, 2}}, {{}, {-1}}, {{}, {9_973}, {1, 2, 3, 4, 5, 6}},
-		// There is no element, whatever else there is too much of.
-		six, sample.Filled(6, 0, 0), sample.Filled(1_000, 0, 0),
-	} {
-		wantBad(t, m, api.ErrNone)
-	}
-}
-
-func TestFull(t *testing.T) {
-	for size := 1; size <= 5; size++ {
-		for _, many := range []int{6, 7, 10, 100, 1_000} {
-			for _, n := range []int{0, 1, 9_972, -1, 9_973} {
-				// The number of elements comes before what they are, and before
-				// the length of later rows.
-				wantBad(t, sample.Filled(size, many, n), api.ErrFull)
-				wantBad(t, sample.Filled(many, size, n), api.ErrFull)
-				uneven := sample.Filled(many, size, n)
-				uneven[1] = nil
-				wantBad(t, uneven, api.ErrFull)
-				uneven = append(sample.Filled(1, many, n), []int{1}, nil)
-				wantBad(t, uneven, api.ErrFull)
-			}
-		}
-	}
-	wantBad(t, sample.Filled(6, 6, 0), api.ErrFull)
-	wantBad(t, sample.Unit(6), api.ErrFull)
-	// Only the first row may be too long; a later one is longer than that one.
-	wantBad(t, [][]int{{1}, {1, 2, 3, 4, 5, 6}}, api.ErrShape)
-	wantBad(t, [][]int{{1, 2, 3, 4, 5}, {1, 2, 3, 4, 5, 6}}, api.ErrShape)
-}
-
-func TestShape(t *testing.T) {
-	for rows, columns := range sample.Sizes() {
-		for i := 1; i < rows; i++ {
-			for length := range 8 {
-				if length == columns {
-					continue
-				}
-				m := sample.Mixed(rows, columns, 3)
-				m[i] = sample.Filled(1, length, 0)[0]
-				wantBad(t, m, api.ErrShape)
-				// The length of a row comes before its elements, and also
-				// before those of the rows behind it.
-				m[i] = sample.Filled(1, length, -1)[0]
-				wantBad(t, m, api.ErrShape)
-				for k := i + 1; k < rows; k++ {
-					m[k] = sample.Filled(1, columns, 9_973)[0]
-				}
-				wantBad(t, m, api.ErrShape)
-			}
-		}
-	}
-}
-
-func TestRange(t *testing.T) {
-	for rows, columns := range sample.Sizes() {
-		for i := range rows {
-			for j := range columns {
-				for _, bad := range sample.Outside() {
-					wantBad(t, sample.With(rows, columns, i, j, bad), api.ErrRange)
-					m := sample.Mixed(rows, columns, 5)
-					m[i][j] = bad
-					wantBad(t, m, api.ErrRange)
-				}
-			}
-		}
-	}
-}
-
-// TestRowByRow checks that an element comes before the length of a later row.
-func TestRowByRow(t *testing.T) {
-	for rows, columns := range sample.Sizes() {
-		for i := range rows {
-			for later := i + 1; later < rows; later++ {
-				for _, bad := range []int{-1, 9_973} {
-					m := sample.Mixed(rows, columns, 6)
-					m[i][columns-1] = bad
-					m[later] = m[later][:columns-1]
-					wantBad(t, m, api.ErrRange)
-					m[later] = sample.Filled(1, columns+1, 1)[0]
-					wantBad(t, m, api.ErrRange)
-				}
-			}
-		}
+// TestBad has all lists that are no matrices.
+func TestBad(t *testing.T) {
+	for m, want := range sample.Bad() {
+		wantBad(t, m, want)
 	}
 }
 
@@ -502,8 +363,8 @@ func TestArguments(t *testing.T) {
 		checkArguments(t, sample.Filled(rows, columns, 1))
 		checkArguments(t, sample.Filled(rows, columns, 9_973))
 		for rank := range min(rows, columns) {
-			for _, pivots := range subsets(columns, rank) {
-				checkArguments(t, form(pivots, sample.Mixed(rows, columns, 13)))
+			for _, pivots := range sample.Subsets(columns, rank) {
+				checkArguments(t, sample.Form(pivots, sample.Mixed(rows, columns, 13)))
 			}
 		}
 	}

@@ -365,105 +365,10 @@ func TestPlaces(t *testing.T) {
 	}
 }
 
-func TestNone(t *testing.T) {
-	six := sample.Filled(6, 1, 1)
-	six[0] = nil
-	for _, m := range [][][]int{
-		nil, {}, {nil}, {{}}, {nil, nil}, {{}, {}, {}}, {{}, {1}}, {nil, {1, 2}}, {{}, {-1}}, {{}, {9_973}, {1, 2, 3, 4, 5, 6}},
-		// There is no element, whatever else there is too much of.
-		six, sample.Filled(6, 0, 0), sample.Filled(1_000, 0, 0),
-	} {
-		wantBad(t, m, api.ErrNone)
-	}
-}
-
-func TestFull(t *testing.T) {
-	for size := 1; size <= 5; size++ {
-		for _, many := range []int{6, 7, 10, 100, 1_000} {
-			wantBad(t, sample.Filled(size, many, 1), api.ErrFull)
-			wantBad(t, sample.Filled(many, size, 1), api.ErrFull)
-			// The number of elements comes before what they are, and before the
-			// length of later rows.
-			wantBad(t, sample.Filled(size, many, -1), api.ErrFull)
-			wantBad(t, sample.Filled(many, size, 9_973), api.ErrFull)
-			uneven := sample.Filled(many, size, 1)
-			uneven[1] = nil
-			wantBad(t, uneven, api.ErrFull)
-			uneven = append(sample.Filled(1, many, 1), []int{1}, nil)
-			wantBad(t, uneven, api.ErrFull)
-		}
-	}
-	wantBad(t, sample.Filled(6, 6, 1), api.ErrFull)
-	wantBad(t, sample.Filled(6, 6, -1), api.ErrFull)
-	// Only the first row may be too long; a later one is longer than that one.
-	wantBad(t, [][]int{{1}, {1, 2, 3, 4, 5, 6}}, api.ErrShape)
-	wantBad(t, [][]int{{1, 2, 3, 4, 5}, {1, 2, 3, 4, 5, 6}}, api.ErrShape)
-}
-
-func TestShape(t *testing.T) {
-	for rows, columns := range sample.Sizes() {
-		for i := 1; i < rows; i++ {
-			for length := range 12 {
-				if length == columns {
-					continue
-				}
-				m := sample.Mixed(rows, columns, 3)
-				m[i] = sample.Mixed(1, length, 4)[0]
-				wantBad(t, m, api.ErrShape)
-				// The length of a row comes before its elements, and also
-				// before those of the rows behind it.
-				m[i] = sample.Filled(1, length, -1)[0]
-				wantBad(t, m, api.ErrShape)
-				for k := i + 1; k < rows; k++ {
-					m[k] = sample.Filled(1, columns, 9_973)[0]
-				}
-				wantBad(t, m, api.ErrShape)
-			}
-		}
-	}
-	wantBad(t, [][]int{{1}, nil}, api.ErrShape)
-	wantBad(t, [][]int{{1}, {}}, api.ErrShape)
-}
-
-func TestRange(t *testing.T) {
-	for rows, columns := range sample.Sizes() {
-		for i := range rows {
-			for j := range columns {
-				for _, bad := range sample.Outside()[:9] {
-					m := sample.Mixed(rows, columns, 5)
-					m[i][j] = bad
-					wantBad(t, m, api.ErrRange)
-				}
-			}
-		}
-	}
-	for _, bad := range sample.Outside() {
-		wantBad(t, [][]int{{bad}}, api.ErrRange)
-		wantBad(t, sample.Filled(5, 5, bad), api.ErrRange)
-		wantBad(t, sample.With(5, 5, 0, 0, bad), api.ErrRange)
-		wantBad(t, sample.With(5, 5, 4, 4, bad), api.ErrRange)
-	}
-}
-
-// TestRowByRow checks that an element comes before the length of a later row.
-func TestRowByRow(t *testing.T) {
-	for rows, columns := range sample.Sizes() {
-		for i := range rows {
-			for j := range columns {
-				for later := i + 1; later < rows; later++ {
-					for _, bad := range []int{-1, 9_973} {
-						m := sample.Mixed(rows, columns, 6)
-						m[i][j] = bad
-						m[later] = m[later][:columns-1]
-						wantBad(t, m, api.ErrRange)
-						m[later] = sample.Filled(1, columns+1, 1)[0]
-						wantBad(t, m, api.ErrRange)
-						m[later] = nil
-						wantBad(t, m, api.ErrRange)
-					}
-				}
-			}
-		}
+// TestBad has all lists that are no matrices.
+func TestBad(t *testing.T) {
+	for m, want := range sample.Bad() {
+		wantBad(t, m, want)
 	}
 }
 

@@ -122,6 +122,67 @@ func Without(m [][]int, i, j int) [][]int {
 	return part
 }
 
+// Rank returns the rank of a matrix: the size of its largest part, made by
+// leaving out rows and columns, whose determinant is not 0.
+func Rank(m [][]int) int {
+	if len(m) == 0 {
+		return 0
+	}
+	for size := min(len(m), len(m[0])); size > 0; size-- {
+		for _, rows := range Subsets(len(m), size) {
+			for _, columns := range Subsets(len(m[0]), size) {
+				if Det(part(m, rows, columns)) != 0 {
+					return size
+				}
+			}
+		}
+	}
+	return 0
+}
+
+// part returns the matrix of some rows and columns of m.
+func part(m [][]int, rows, columns []int) [][]int {
+	l := Filled(len(rows), len(columns), 0)
+	for i, row := range rows {
+		for j, column := range columns {
+			l[i][j] = m[row][column]
+		}
+	}
+	return l
+}
+
+// Subsets returns all lists of this many numbers below n in increasing order.
+func Subsets(n, many int) [][]int {
+	var l [][]int
+	for set := range 1 << n {
+		var numbers []int
+		for k := range n {
+			if set>>k&1 == 1 {
+				numbers = append(numbers, k)
+			}
+		}
+		if len(numbers) == many {
+			l = append(l, numbers)
+		}
+	}
+	return l
+}
+
+// Form returns a matrix in reduced row echelon form that has its pivots in these
+// columns. Its other elements are taken from those of a matrix of the same size.
+func Form(pivots []int, m [][]int) [][]int {
+	l := Filled(len(m), len(m[0]), 0)
+	for i, pivot := range pivots {
+		for j := pivot + 1; j < len(m[0]); j++ {
+			if !slices.Contains(pivots, j) {
+				l[i][j] = m[i][j]
+			}
+		}
+		l[i][pivot] = 1
+	}
+	return l
+}
+
 // Orders returns all orders of the rows of m.
 func Orders(m [][]int) [][][]int {
 	if len(m) == 0 {

@@ -3,6 +3,8 @@ package sample
 import (
 	"slices"
 	"testing"
+
+	"rankmere/api"
 )
 
 func TestOutside(t *testing.T) {
@@ -83,12 +85,104 @@ func TestDet(t *testing.T) {
 	}
 }
 
+func TestRank(t *testing.T) {
+	for _, c := range []struct {
+		m    [][]int
+		want int
+	}{
+		{nil, 0},
+		{[][]int{{}}, 0},
+		{[][]int{{0}}, 0},
+		{[][]int{{7}}, 1},
+		{[][]int{{0, 0, 7}}, 1},
+		{[][]int{{1, 2}, {2, 4}}, 1},
+		{[][]int{{1, 2}, {2, 5}}, 2},
+		{[][]int{{0, 0, 1}, {0, 0, 2}, {3, 0, 0}}, 2},
+		{[][]int{{1, 2, 3}, {4, 5, 6}, {7, 8, 9}}, 2},
+		{Unit(5), 5},
+		{Filled(5, 4, 9_972), 1},
+	} {
+		if got := Rank(c.m); got != c.want {
+			t.Errorf("Rank(%v) = %d, want %d", c.m, got, c.want)
+		}
+	}
+}
+
+func TestSubsets(t *testing.T) {
+	for _, c := range []struct {
+		n, many int
+		want    [][]int
+	}{
+		{0, 0, [][]int{{}}},
+		{2, 0, [][]int{{}}},
+		{3, 1, [][]int{{0}, {1}, {2}}},
+		{3, 2, [][]int{{0, 1}, {0, 2}, {1, 2}}},
+		{3, 3, [][]int{{0, 1, 2}}},
+		{3, 4, nil},
+	} {
+		if got := Subsets(c.n, c.many); !Same(got, c.want) {
+			t.Errorf("Subsets(%d, %d) = %v, want %v", c.n, c.many, got, c.want)
+		}
+	}
+}
+
+func TestForm(t *testing.T) {
+	for _, c := range []struct {
+		pivots []int
+		want   [][]int
+	}{
+		{nil, Filled(3, 4, 0)},
+		{[]int{0}, [][]int{{1, 7, 7, 7}, {0, 0, 0, 0}, {0, 0, 0, 0}}},
+		{[]int{1, 3}, [][]int{{0, 1, 7, 0}, {0, 0, 0, 1}, {0, 0, 0, 0}}},
+		{[]int{0, 1, 2}, [][]int{{1, 0, 0, 7}, {0, 1, 0, 7}, {0, 0, 1, 7}}},
+	} {
+		if got := Form(c.pivots, Filled(3, 4, 7)); !Same(got, c.want) {
+			t.Errorf("Form(%v) = %v, want %v", c.pivots, got, c.want)
+		}
+	}
+}
+
 func TestOrders(t *testing.T) {
 	want := [][][]int{
 		{{1}, {2}, {3}}, {{1}, {3}, {2}}, {{2}, {1}, {3}}, {{2}, {3}, {1}}, {{3}, {1}, {2}}, {{3}, {2}, {1}},
 	}
 	if got := Orders([][]int{{1}, {2}, {3}}); !slices.EqualFunc(got, want, Same) {
 		t.Errorf("got %v", got)
+	}
+}
+
+// errorOf returns the error that the document wants for a list of rows.
+func errorOf(m [][]int) api.Errno {
+	if len(m) == 0 || len(m[0]) == 0 {
+		return api.ErrNone
+	}
+	if len(m) > 5 || len(m[0]) > 5 {
+		return api.ErrFull
+	}
+	for _, row := range m {
+		if len(row) != len(m[0]) {
+			return api.ErrShape
+		}
+		if slices.Min(row) < 0 || slices.Max(row) > 9_972 {
+			return api.ErrRange
+		}
+	}
+	return api.OK
+}
+
+func TestBad(t *testing.T) {
+	count := map[api.Errno]int{}
+	for m, want := range Bad() {
+		if got := errorOf(m); got != want {
+			t.Fatalf("%v has %v, want %v", m, got, want)
+		}
+		count[want]++
+	}
+	if len(count) != 4 {
+		t.Errorf("there are %d errors", len(count))
+	}
+	for range Bad() {
+		break
 	}
 }
 
