@@ -7,18 +7,24 @@ import (
 	"rankmere/api"
 )
 
-// Bad yields lists that are no matrices over the field, with their errors: all
-// kinds of them at all places, and what must not hide or precede an error.
+// Bad yields lists that are no matrices over the field, with their errors.
 func Bad() iter.Seq2[[][]int, api.Errno] {
+	return ofField().Bad()
+}
+
+// Bad yields lists that are no matrices of a kind, square or not, with their
+// errors: all kinds of them at all places, and what must not hide or precede an
+// error.
+func (k Kind) Bad() iter.Seq2[[][]int, api.Errno] {
 	return func(yield func(m [][]int, want api.Errno) bool) {
-		for _, kind := range []struct {
+		for _, part := range []struct {
 			matrices [][][]int
 			want     api.Errno
 		}{
-			{empty(), api.ErrNone}, {large(), api.ErrFull}, {uneven(), api.ErrShape}, {outside(), api.ErrRange},
+			{k.empty(), api.ErrNone}, {k.large(), api.ErrFull}, {k.uneven(), api.ErrShape}, {k.outside(), api.ErrRange},
 		} {
-			for _, m := range kind.matrices {
-				if !yield(m, kind.want) {
+			for _, m := range part.matrices {
+				if !yield(m, part.want) {
 					return
 				}
 			}
@@ -27,23 +33,24 @@ func Bad() iter.Seq2[[][]int, api.Errno] {
 }
 
 // empty returns lists without a first element.
-func empty() [][][]int {
-	six := Filled(6, 1, 1)
-	six[0] = nil
+func (k Kind) empty() [][][]int {
+	many := Filled(k.Side+1, 1, 1)
+	many[0] = nil
 	return [][][]int{
-		nil, {}, {nil}, {{}}, {nil, nil}, {{}, {}, {}}, {{}, {1}}, {nil, {1, 2}}, {{}, {-1}}, {{}, {9_973}, {1, 2, 3, 4, 5, 6}},
+		nil, {}, {nil}, {{}}, {nil, nil}, {{}, {}, {}}, {{}, {1}}, {nil, {1, 2}}, {{}, {k.Least - 1}},
+		{{}, {k.Most + 1}, slices.Repeat([]int{1}, k.Side+1)},
 		// There is no element, whatever else there is too much of.
-		six, Filled(6, 0, 0), Filled(1_000, 0, 0),
+		many, Filled(k.Side+1, 0, 0), Filled(1_000, 0, 0),
 	}
 }
 
 // large returns matrices with too many rows or columns.
-func large() [][][]int {
-	l := [][][]int{Unit(6)}
-	for _, n := range []int{0, 1, 9_972, -1, 9_973} {
-		l = append(l, Filled(6, 6, n))
-		for size := 1; size <= 5; size++ {
-			for _, many := range []int{6, 7, 10, 100, 1_000} {
+func (k Kind) large() [][][]int {
+	l := [][][]int{Unit(k.Side + 1)}
+	for _, n := range []int{0, 1, k.Least, k.Most, k.Least - 1, k.Most + 1} {
+		l = append(l, Filled(k.Side+1, k.Side+1, n))
+		for size := 1; size <= k.Side; size++ {
+			for _, many := range []int{k.Side + 1, k.Side + 2, 2 * k.Side, 100, 1_000} {
 				// The number of elements comes before what they are, and before
 				// the length of later rows.
 				part := Filled(many, size, n)
@@ -56,25 +63,25 @@ func large() [][][]int {
 }
 
 // uneven returns matrices with a row that is shorter or longer than the first.
-func uneven() [][][]int {
+func (k Kind) uneven() [][][]int {
 	var l [][][]int
-	for rows, columns := range Sizes() {
+	for rows, columns := range k.Sizes() {
 		for i := 1; i < rows; i++ {
-			for length := range 12 {
+			for length := range 2*k.Side + 2 {
 				if length == columns {
 					continue
 				}
-				m := Mixed(rows, columns, 3)
-				m[i] = Mixed(1, length, 4)[0]
+				m := k.Mixed(rows, columns, 3)
+				m[i] = k.Mixed(1, length, 4)[0]
 				l = append(l, m)
 				// The length of a row comes before its elements, and also
 				// before those of the rows behind it.
 				m = Clone(m)
-				m[i] = Filled(1, length, -1)[0]
+				m[i] = Filled(1, length, k.Least-1)[0]
 				l = append(l, m)
 				m = Clone(m)
-				for k := i + 1; k < rows; k++ {
-					m[k] = Filled(1, columns, 9_973)[0]
+				for later := i + 1; later < rows; later++ {
+					m[later] = Filled(1, columns, k.Most+1)[0]
 				}
 				l = append(l, m)
 			}
@@ -83,15 +90,15 @@ func uneven() [][][]int {
 	return l
 }
 
-// outside returns matrices with an element that is none of the field.
-func outside() [][][]int {
+// outside returns matrices with an element that is none of the kind.
+func (k Kind) outside() [][][]int {
 	var l [][][]int
-	for _, n := range Outside() {
-		l = append(l, Filled(5, 5, n))
-		for rows, columns := range Sizes() {
+	for _, n := range k.Outside() {
+		l = append(l, Filled(k.Side, k.Side, n))
+		for rows, columns := range k.Sizes() {
 			for i := range rows {
 				for j := range columns {
-					m := Mixed(rows, columns, 5)
+					m := k.Mixed(rows, columns, 5)
 					m[i][j] = n
 					l = append(l, m, With(rows, columns, i, j, n))
 				}
@@ -99,13 +106,13 @@ func outside() [][][]int {
 		}
 	}
 	// An element comes before the length of a later row.
-	for rows, columns := range Sizes() {
+	for rows, columns := range k.Sizes() {
 		for later := range rows {
 			for i := range later {
 				for j := range columns {
 					for _, length := range []int{0, columns - 1, columns + 1} {
-						m := Mixed(rows, columns, 6)
-						m[i][j] = []int{-1, 9_973}[j%2]
+						m := k.Mixed(rows, columns, 6)
+						m[i][j] = []int{k.Least - 1, k.Most + 1}[j%2]
 						m[later] = slices.Repeat([]int{1}, length)
 						l = append(l, m)
 					}

@@ -7,30 +7,19 @@ package sample
 
 import (
 	"iter"
-	"math"
 	"slices"
 )
 
 // Outside returns numbers that are no elements of the field, those next to its
 // elements first.
 func Outside() []int {
-	return []int{
-		-1, 9_973, -2, 9_974, -9_972, -9_973, -9_974, 19_945, 19_946, 1_000_000, -1_000_000,
-		1 << 32, 1<<32 + 5, -1 << 32, math.MaxInt, math.MinInt, math.MinInt + 1,
-	}
+	return ofField().Outside()
 }
 
-// Sizes yields all numbers of rows and columns that a matrix may have.
+// Sizes yields all numbers of rows and columns that a matrix over the field may
+// have.
 func Sizes() iter.Seq2[int, int] {
-	return func(yield func(rows, columns int) bool) {
-		for rows := 1; rows <= 5; rows++ {
-			for columns := 1; columns <= 5; columns++ {
-				if !yield(rows, columns) {
-					return
-				}
-			}
-		}
-	}
+	return ofField().Sizes()
 }
 
 // Filled returns a matrix that has n everywhere.
@@ -58,18 +47,10 @@ func Unit(n int) [][]int {
 	return m
 }
 
-// Mixed returns a matrix of elements that follow no plain rule; another seed
-// makes another one.
+// Mixed returns a matrix of elements of the field that follow no plain rule;
+// another seed makes another one.
 func Mixed(rows, columns, seed int) [][]int {
-	m := Filled(rows, columns, 0)
-	state := uint32(seed)*2_654_435_761 + 12_345
-	for _, row := range m {
-		for j := range row {
-			state = state*1_664_525 + 1_013_904_223
-			row[j] = int(state>>8) % 9_973
-		}
-	}
-	return m
+	return ofField().Mixed(rows, columns, seed)
 }
 
 // Invertible returns a square matrix that has an inverse, as it is the product
@@ -100,17 +81,28 @@ func Mul(a, b [][]int) [][]int {
 	return product
 }
 
-// Det returns the determinant of a square matrix, from those of the matrices
-// without the first row and one column.
+// Det returns the determinant of a square matrix over the field.
 func Det(m [][]int) int {
+	return expand(m, func(n int) int { return (n%9_973 + 9_973) % 9_973 })
+}
+
+// IntDet returns the determinant of a square matrix of integers, which are so
+// small that an int has room for it.
+func IntDet(m [][]int) int {
+	return expand(m, func(n int) int { return n })
+}
+
+// expand returns the determinant of a square matrix, from those of the matrices
+// without the first row and one column, all of them reduced.
+func expand(m [][]int, reduced func(n int) int) int {
 	if len(m) == 0 {
 		return 1
 	}
 	sum := 0
 	for j, n := range m[0] {
-		sum += (1 - j%2*2) * n * Det(Without(m, 0, j))
+		sum += (1 - j%2*2) * n * expand(Without(m, 0, j), reduced)
 	}
-	return (sum%9_973 + 9_973) % 9_973
+	return reduced(sum)
 }
 
 // Without returns a matrix without one row and one column.

@@ -7,20 +7,44 @@ import (
 	"rankmere/api"
 )
 
+// kinds returns the kind of the field and others.
+func kinds() []Kind {
+	return []Kind{ofField(), {5, -9, 9}, {4, -9, 9}, {3, -20, 20}, {6, -9, 9}, {1, 0, 1}}
+}
+
 func TestOutside(t *testing.T) {
-	for _, n := range Outside() {
-		if n >= 0 && n < 9_973 {
-			t.Errorf("%d is an element", n)
+	for _, k := range kinds() {
+		for _, n := range k.Outside() {
+			if n >= k.Least && n <= k.Most {
+				t.Errorf("%d is an element of %v", n, k)
+			}
 		}
+		for _, n := range []int{k.Least - 1, k.Most + 1} {
+			if !slices.Contains(k.Outside(), n) {
+				t.Errorf("%d is missing for %v", n, k)
+			}
+		}
+	}
+	if want := (Kind{5, 0, 9_972}).Outside(); !slices.Equal(Outside(), want) {
+		t.Errorf("Outside() = %v, want %v", Outside(), want)
 	}
 }
 
 func TestSizes(t *testing.T) {
-	count := 0
-	for rows, columns := range Sizes() {
-		if rows != 1+count/5 || columns != 1+count%5 {
-			t.Errorf("size %d is %d, %d", count, rows, columns)
+	for _, k := range kinds() {
+		count := 0
+		for rows, columns := range k.Sizes() {
+			if rows != 1+count/k.Side || columns != 1+count%k.Side {
+				t.Errorf("size %d of %v is %d, %d", count, k, rows, columns)
+			}
+			count++
 		}
+		if count != k.Side*k.Side {
+			t.Errorf("there are %d sizes of %v", count, k)
+		}
+	}
+	count := 0
+	for range Sizes() {
 		count++
 	}
 	if count != 25 {
@@ -28,6 +52,28 @@ func TestSizes(t *testing.T) {
 	}
 	for range Sizes() {
 		break
+	}
+}
+
+func TestMixed(t *testing.T) {
+	for _, k := range kinds() {
+		least, most := k.Most, k.Least
+		for rows, columns := range k.Sizes() {
+			for seed := range 30 {
+				for _, row := range k.Mixed(rows, columns, seed) {
+					if len(row) != columns {
+						t.Errorf("a matrix of %v has the row %v", k, row)
+					}
+					least, most = min(least, slices.Min(row)), max(most, slices.Max(row))
+				}
+			}
+		}
+		if least < k.Least || most > k.Most {
+			t.Errorf("%v has elements from %d to %d", k, least, most)
+		}
+		if k.Most-k.Least < 50 && (least > k.Least || most < k.Most) {
+			t.Errorf("%v has only elements from %d to %d", k, least, most)
+		}
 	}
 }
 
@@ -48,13 +94,6 @@ func TestMade(t *testing.T) {
 	}
 	if Same(Mixed(1, 1, 1), Mixed(1, 1, 2)) {
 		t.Errorf("two seeds make the same matrix")
-	}
-	for rows, columns := range Sizes() {
-		for _, row := range Mixed(rows, columns, 1) {
-			if len(row) != columns || slices.Min(row) < 0 || slices.Max(row) > 9_972 {
-				t.Errorf("Mixed(%d, %d, 1) has the row %v", rows, columns, row)
-			}
-		}
 	}
 }
 
@@ -81,6 +120,25 @@ func TestDet(t *testing.T) {
 			if m := Invertible(n, seed); Det(m) == 0 {
 				t.Errorf("Invertible(%d, %d) = %v", n, seed, m)
 			}
+		}
+	}
+}
+
+func TestIntDet(t *testing.T) {
+	for _, c := range []struct {
+		m    [][]int
+		want int
+	}{
+		{nil, 1},
+		{[][]int{{-7}}, -7},
+		{[][]int{{1, 2}, {3, 4}}, -2},
+		{[][]int{{100, 0}, {0, 100}}, 10_000},
+		{[][]int{{0, 0, -100}, {0, -100, 0}, {-100, 0, 0}}, 1_000_000},
+		{[][]int{{1, 2, 3}, {4, 5, 6}, {7, 8, 10}}, -3},
+		{Filled(5, 5, -9), 0},
+	} {
+		if got := IntDet(c.m); got != c.want {
+			t.Errorf("IntDet(%v) = %d, want %d", c.m, got, c.want)
 		}
 	}
 }
@@ -152,18 +210,18 @@ func TestOrders(t *testing.T) {
 }
 
 // errorOf returns the error that the document wants for a list of rows.
-func errorOf(m [][]int) api.Errno {
+func errorOf(k Kind, m [][]int) api.Errno {
 	if len(m) == 0 || len(m[0]) == 0 {
 		return api.ErrNone
 	}
-	if len(m) > 5 || len(m[0]) > 5 {
+	if len(m) > k.Side || len(m[0]) > k.Side {
 		return api.ErrFull
 	}
 	for _, row := range m {
 		if len(row) != len(m[0]) {
 			return api.ErrShape
 		}
-		if slices.Min(row) < 0 || slices.Max(row) > 9_972 {
+		if slices.Min(row) < k.Least || slices.Max(row) > k.Most {
 			return api.ErrRange
 		}
 	}
@@ -171,15 +229,23 @@ func errorOf(m [][]int) api.Errno {
 }
 
 func TestBad(t *testing.T) {
-	count := map[api.Errno]int{}
+	for _, k := range kinds() {
+		count := map[api.Errno]int{}
+		for m, want := range k.Bad() {
+			if got := errorOf(k, m); got != want {
+				t.Fatalf("%v of %v has %v, want %v", m, k, got, want)
+			}
+			count[want]++
+		}
+		// Rows are of different lengths only if there are two of them.
+		if len(count) != min(k.Side, 2)+2 {
+			t.Errorf("there are %d errors of %v", len(count), k)
+		}
+	}
 	for m, want := range Bad() {
-		if got := errorOf(m); got != want {
+		if got := errorOf(Kind{5, 0, 9_972}, m); got != want {
 			t.Fatalf("%v has %v, want %v", m, got, want)
 		}
-		count[want]++
-	}
-	if len(count) != 4 {
-		t.Errorf("there are %d errors", len(count))
 	}
 	for range Bad() {
 		break
