@@ -254,19 +254,9 @@ func TestFewElements(t *testing.T) {
 		{4, []int{0, 1}},
 		{4, []int{-9, 7}},
 	} {
-		m := sample.Filled(c.size, c.size, 0)
-		var fill func(place int)
-		fill = func(place int) {
-			if place == c.size*c.size {
-				wantExpanded(t, m)
-				return
-			}
-			for _, n := range c.elements {
-				m[place/c.size][place%c.size] = n
-				fill(place + 1)
-			}
+		for m := range sample.All(c.size, c.size, c.elements...) {
+			wantExpanded(t, m)
 		}
-		fill(0)
 	}
 }
 
@@ -482,21 +472,8 @@ func TestBad(t *testing.T) {
 // TestNotSquare has matrices with more rows than columns and the other way
 // round. All other errors come before this one.
 func TestNotSquare(t *testing.T) {
-	for rows, columns := range kind().Sizes() {
-		if rows == columns {
-			continue
-		}
-		for _, n := range []int{-9, -1, 0, 1, 9} {
-			wantBad(t, sample.Filled(rows, columns, n), api.ErrShape)
-		}
-		wantBad(t, kind().Mixed(rows, columns, 1), api.ErrShape)
-		for i := range rows {
-			for j := range columns {
-				for _, n := range kind().Outside() {
-					wantBad(t, sample.With(rows, columns, i, j, n), api.ErrRange)
-				}
-			}
-		}
+	for m, want := range kind().NotSquare() {
+		wantBad(t, m, want)
 	}
 	wantBad(t, sample.Filled(1, 6, 0), api.ErrFull)
 	wantBad(t, sample.Filled(6, 5, 0), api.ErrFull)

@@ -201,19 +201,9 @@ func TestFewElements(t *testing.T) {
 		{3, []int{0, 1, 9_972}},
 		{4, []int{0, 1}},
 	} {
-		m := sample.Filled(c.size, c.size, 0)
-		var fill func(place int)
-		fill = func(place int) {
-			if place == c.size*c.size {
-				wantDet(t, m)
-				return
-			}
-			for _, n := range c.elements {
-				m[place/c.size][place%c.size] = n
-				fill(place + 1)
-			}
+		for m := range sample.All(c.size, c.size, c.elements...) {
+			wantDet(t, m)
 		}
-		fill(0)
 	}
 }
 
@@ -370,20 +360,8 @@ func TestBad(t *testing.T) {
 // TestNotSquare has matrices with more rows than columns and the other way
 // round. All other errors come before this one.
 func TestNotSquare(t *testing.T) {
-	for rows, columns := range sample.Sizes() {
-		if rows == columns {
-			continue
-		}
-		wantBad(t, sample.Mixed(rows, columns, 1), api.ErrShape)
-		wantBad(t, sample.Filled(rows, columns, 0), api.ErrShape)
-		wantBad(t, sample.Filled(rows, columns, 9_972), api.ErrShape)
-		for i := range rows {
-			for j := range columns {
-				for _, n := range sample.Outside() {
-					wantBad(t, sample.With(rows, columns, i, j, n), api.ErrRange)
-				}
-			}
-		}
+	for m, want := range sample.NotSquare() {
+		wantBad(t, m, want)
 	}
 	wantBad(t, sample.Filled(1, 6, 0), api.ErrFull)
 	wantBad(t, sample.Filled(6, 5, 0), api.ErrFull)

@@ -219,19 +219,9 @@ func TestFewElements(t *testing.T) {
 		{3, 4, []int{0, 1}},
 		{4, 3, []int{0, 1}},
 	} {
-		m := sample.Filled(c.rows, c.columns, 0)
-		var fill func(place int)
-		fill = func(place int) {
-			if place == c.rows*c.columns {
-				wantReduced(t, m)
-				return
-			}
-			for _, n := range c.elements {
-				m[place/c.columns][place%c.columns] = n
-				fill(place + 1)
-			}
+		for m := range sample.All(c.rows, c.columns, c.elements...) {
+			wantReduced(t, m)
 		}
-		fill(0)
 	}
 }
 

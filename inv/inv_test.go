@@ -1,7 +1,6 @@
 package inv
 
 import (
-	"iter"
 	"slices"
 	"testing"
 
@@ -71,26 +70,6 @@ func elements(m [][]int, rows int) bool {
 		}
 	}
 	return true
-}
-
-// all yields all square matrices of this size that have only these elements.
-func all(size int, elements ...int) iter.Seq[[][]int] {
-	return func(yield func([][]int) bool) {
-		count := 1
-		for range size * size {
-			count *= len(elements)
-		}
-		for number := range count {
-			m := sample.Filled(size, size, 0)
-			for place := range size * size {
-				m[place/size][place%size] = elements[number%len(elements)]
-				number /= len(elements)
-			}
-			if !yield(m) {
-				return
-			}
-		}
-	}
 }
 
 // wantOf fails the test unless Of returns this and no error.
@@ -323,7 +302,7 @@ func TestAllElements(t *testing.T) {
 
 // TestFewElements has all matrices of few rows and few different elements.
 func TestFewElements(t *testing.T) {
-	for m := range all(2, 0, 1, 2, 4_986, 4_987, 9_971, 9_972) {
+	for m := range sample.All(2, 2, 0, 1, 2, 4_986, 4_987, 9_971, 9_972) {
 		wantInverse(t, m)
 		for _, u := range [][]int{{0, 0}, {1, 0}, {0, 9_972}, {1, 1}, {4_987, 3}} {
 			for _, v := range [][]int{{0, 0}, {9_972, 0}, {0, 1}, {1, 2}, {9_971, 5_000}} {
@@ -331,7 +310,7 @@ func TestFewElements(t *testing.T) {
 			}
 		}
 	}
-	for m := range all(3, 0, 1, 9_972) {
+	for m := range sample.All(3, 3, 0, 1, 9_972) {
 		wantInverse(t, m)
 		wantFormula(t, m, []int{1, 0, 2}, []int{9_972, 3, 1})
 	}
@@ -476,19 +455,12 @@ func TestBad(t *testing.T) {
 // TestNotSquare has matrices with more rows than columns and the other way round.
 // All other errors of the matrix come before this one.
 func TestNotSquare(t *testing.T) {
+	for m, want := range sample.NotSquare() {
+		wantBad(t, m, want)
+	}
 	for rows, columns := range sample.Sizes() {
 		if rows == columns {
 			continue
-		}
-		wantBad(t, sample.Mixed(rows, columns, 1), api.ErrShape)
-		wantBad(t, sample.Filled(rows, columns, 0), api.ErrShape)
-		wantBad(t, sample.Filled(rows, columns, 9_972), api.ErrShape)
-		for i := range rows {
-			for j := range columns {
-				for _, n := range sample.Outside() {
-					wantBad(t, sample.With(rows, columns, i, j, n), api.ErrRange)
-				}
-			}
 		}
 		wantChangeError(t, sample.Mixed(rows, columns, 1), make([]int, rows), make([]int, columns), api.ErrShape)
 		// It comes before the elements of u and v.

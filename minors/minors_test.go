@@ -252,19 +252,9 @@ func TestFewElements(t *testing.T) {
 		{2, []int{0, 1, 2, 4_986, 4_987, 9_971, 9_972}},
 		{3, []int{0, 1, 9_972}},
 	} {
-		m := sample.Filled(c.size, c.size, 0)
-		var fill func(place int)
-		fill = func(place int) {
-			if place == c.size*c.size {
-				wantMinors(t, m)
-				return
-			}
-			for _, n := range c.elements {
-				m[place/c.size][place%c.size] = n
-				fill(place + 1)
-			}
+		for m := range sample.All(c.size, c.size, c.elements...) {
+			wantMinors(t, m)
 		}
-		fill(0)
 	}
 }
 
@@ -373,19 +363,11 @@ func TestBad(t *testing.T) {
 // round. All other errors of the matrix come before this one, and all of them
 // before that of a row or a column.
 func TestNotSquare(t *testing.T) {
-	for rows, columns := range sample.Sizes() {
-		if rows == columns {
-			continue
-		}
-		wantBad(t, sample.Mixed(rows, columns, 1), api.ErrShape)
-		wantBad(t, sample.Filled(rows, columns, 0), api.ErrShape)
-		wantBad(t, sample.Filled(rows, columns, 9_972), api.ErrShape)
-		for i := range rows {
-			for j := range columns {
-				wantOfError(t, sample.Mixed(rows, columns, 2), i, j, api.ErrShape)
-				for _, n := range sample.Outside() {
-					wantBad(t, sample.With(rows, columns, i, j, n), api.ErrRange)
-				}
+	for m, want := range sample.NotSquare() {
+		wantBad(t, m, want)
+		for i := range m {
+			for j := range m[i] {
+				wantOfError(t, m, i, j, want)
 			}
 		}
 	}

@@ -32,6 +32,40 @@ func (k Kind) Bad() iter.Seq2[[][]int, api.Errno] {
 	}
 }
 
+// NotSquare yields matrices over the field with more rows than columns and the
+// other way round, with the errors that they have where only square ones may be.
+func NotSquare() iter.Seq2[[][]int, api.Errno] {
+	return ofField().NotSquare()
+}
+
+// NotSquare yields matrices of a kind with more rows than columns and the other
+// way round, with the errors that they have where only square ones may be: an
+// element that is none of the kind comes before the shape.
+func (k Kind) NotSquare() iter.Seq2[[][]int, api.Errno] {
+	return func(yield func(m [][]int, want api.Errno) bool) {
+		for rows, columns := range k.Sizes() {
+			if rows == columns {
+				continue
+			}
+			for _, m := range [][][]int{
+				k.Mixed(rows, columns, 1), Filled(rows, columns, 0), Filled(rows, columns, 1),
+				Filled(rows, columns, k.Least), Filled(rows, columns, k.Most),
+			} {
+				if !yield(m, api.ErrShape) {
+					return
+				}
+			}
+			for _, n := range k.Outside() {
+				for place := range rows * columns {
+					if !yield(With(rows, columns, place/columns, place%columns, n), api.ErrRange) {
+						return
+					}
+				}
+			}
+		}
+	}
+}
+
 // empty returns lists without a first element.
 func (k Kind) empty() [][][]int {
 	many := Filled(k.Side+1, 1, 1)

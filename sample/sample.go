@@ -22,6 +22,28 @@ func Sizes() iter.Seq2[int, int] {
 	return ofField().Sizes()
 }
 
+// All yields all matrices of this size that have only these elements.
+func All(rows, columns int, elements ...int) iter.Seq[[][]int] {
+	return func(yield func(m [][]int) bool) {
+		count := 1
+		for range rows * columns {
+			count *= len(elements)
+		}
+		for number := range count {
+			m := Filled(rows, columns, 0)
+			for _, row := range m {
+				for j := range row {
+					row[j] = elements[number%len(elements)]
+					number /= len(elements)
+				}
+			}
+			if !yield(m) {
+				return
+			}
+		}
+	}
+}
+
 // Filled returns a matrix that has n everywhere.
 func Filled(rows, columns, n int) [][]int {
 	m := make([][]int, rows)
@@ -123,7 +145,7 @@ func Rank(m [][]int) int {
 	for size := min(len(m), len(m[0])); size > 0; size-- {
 		for _, rows := range Subsets(len(m), size) {
 			for _, columns := range Subsets(len(m[0]), size) {
-				if Det(part(m, rows, columns)) != 0 {
+				if Det(Part(m, rows, columns)) != 0 {
 					return size
 				}
 			}
@@ -132,8 +154,8 @@ func Rank(m [][]int) int {
 	return 0
 }
 
-// part returns the matrix of some rows and columns of m.
-func part(m [][]int, rows, columns []int) [][]int {
+// Part returns the matrix of some rows and columns of m.
+func Part(m [][]int, rows, columns []int) [][]int {
 	l := Filled(len(rows), len(columns), 0)
 	for i, row := range rows {
 		for j, column := range columns {

@@ -97,6 +97,47 @@ func TestMade(t *testing.T) {
 	}
 }
 
+func TestAll(t *testing.T) {
+	for rows, columns := range (Kind{Side: 3}).Sizes() {
+		var seen [][]int
+		for m := range All(rows, columns, 0, 7) {
+			if len(m) != rows || len(m[0]) != columns {
+				t.Errorf("%v has not %d rows and %d columns", m, rows, columns)
+			}
+			seen = append(seen, slices.Concat(m...))
+		}
+		for _, all := range seen {
+			if slices.ContainsFunc(all, func(n int) bool { return n != 0 && n != 7 }) {
+				t.Errorf("there are elements %v", all)
+			}
+		}
+		slices.SortFunc(seen, slices.Compare)
+		if many := len(slices.CompactFunc(seen, slices.Equal)); many != 1<<(rows*columns) {
+			t.Errorf("there are %d matrices of %d rows and %d columns", many, rows, columns)
+		}
+	}
+	for range All(2, 2, 0, 1) {
+		break
+	}
+}
+
+func TestPart(t *testing.T) {
+	m := [][]int{{1, 2, 3}, {4, 5, 6}, {7, 8, 9}}
+	for _, c := range []struct {
+		rows, columns []int
+		want          [][]int
+	}{
+		{[]int{0, 2}, []int{1, 2}, [][]int{{2, 3}, {8, 9}}},
+		{[]int{2, 0}, []int{1}, [][]int{{8}, {2}}},
+		{[]int{1}, []int{2, 0, 1}, [][]int{{6, 4, 5}}},
+		{nil, nil, nil},
+	} {
+		if got := Part(m, c.rows, c.columns); !Same(got, c.want) {
+			t.Errorf("Part(%v, %v, %v) = %v, want %v", m, c.rows, c.columns, got, c.want)
+		}
+	}
+}
+
 func TestDet(t *testing.T) {
 	for _, c := range []struct {
 		m    [][]int
@@ -249,6 +290,36 @@ func TestBad(t *testing.T) {
 	}
 	for range Bad() {
 		break
+	}
+}
+
+func TestNotSquare(t *testing.T) {
+	for _, k := range kinds() {
+		shapes, ranges := 0, 0
+		for m, want := range k.NotSquare() {
+			if len(m) == len(m[0]) {
+				t.Fatalf("%v of %v is square", m, k)
+			}
+			switch got := errorOf(k, m); {
+			case got == api.OK && want == api.ErrShape:
+				shapes++
+			case got == api.ErrRange && want == api.ErrRange:
+				ranges++
+			default:
+				t.Fatalf("%v of %v has %v, want %v", m, k, got, want)
+			}
+		}
+		if (shapes > 0) != (k.Side > 1) || (ranges > 0) != (k.Side > 1) {
+			t.Errorf("there are %d and %d matrices of %v", shapes, ranges, k)
+		}
+		for range k.NotSquare() {
+			break
+		}
+	}
+	for m, want := range NotSquare() {
+		if got := errorOf(Kind{5, 0, 9_972}, m); got != api.OK && got != want {
+			t.Fatalf("%v has %v, want %v", m, got, want)
+		}
 	}
 }
 
