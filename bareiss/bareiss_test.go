@@ -69,30 +69,6 @@ func corner(m [][]int, size int) [][]int {
 	return l
 }
 
-// turned returns the transpose of a square matrix.
-func turned(m [][]int) [][]int {
-	l := sample.Clone(m)
-	for i, row := range m {
-		for j, n := range row {
-			l[j][i] = n
-		}
-	}
-	return l
-}
-
-// product returns the product of two matrices of integers.
-func product(a, b [][]int) [][]int {
-	l := sample.Filled(len(a), len(b[0]), 0)
-	for i, row := range l {
-		for j := range row {
-			for k, n := range a[i] {
-				row[j] += n * b[k][j]
-			}
-		}
-	}
-	return l
-}
-
 // few returns a matrix of elements that are -1, 0 or 1.
 func few(rows, columns, seed int) [][]int {
 	return sample.Kind{Side: 5, Least: -1, Most: 1}.Mixed(rows, columns, seed)
@@ -108,32 +84,6 @@ func triangles(n, seed int) (low, up [][]int) {
 		clear(up[i][:i])
 	}
 	return low, up
-}
-
-// signOf returns the sign that the number of inversions gives an order.
-func signOf(order []int) int {
-	sign := 1
-	for i, n := range order {
-		for _, later := range order[i+1:] {
-			if n > later {
-				sign = -sign
-			}
-		}
-	}
-	return sign
-}
-
-// ordersOf returns all orders of the numbers from 0 to n-1.
-func ordersOf(n int) [][]int {
-	var column [][]int
-	for k := range n {
-		column = append(column, []int{k})
-	}
-	var l [][]int
-	for _, rows := range sample.Orders(column) {
-		l = append(l, slices.Concat(rows...))
-	}
-	return l
 }
 
 func TestExamples(t *testing.T) {
@@ -172,7 +122,7 @@ func TestExamples(t *testing.T) {
 		{[][]int{{0, 3, 1, 2, 5}, {-3, 0, 4, 6, 7}, {-1, -4, 0, 8, 9}, {-2, -6, -8, 0, 1}, {-5, -7, -9, -1, 0}}, []int{0, 9, 0, 676, 0}},
 	} {
 		wantLeading(t, c.m, c.want...)
-		wantLeading(t, turned(c.m), c.want...)
+		wantLeading(t, sample.Turned(c.m), c.want...)
 		wantExpanded(t, c.m)
 	}
 }
@@ -285,9 +235,9 @@ func TestZeroMinors(t *testing.T) {
 					m, minors := crossed(n, others, few(1, n, seed)[0])
 					wantLeading(t, m, minors...)
 					low, up := triangles(n, seed)
-					wantLeading(t, product(low, m), minors...)
-					wantLeading(t, product(m, up), minors...)
-					wantLeading(t, product(product(low, m), up), minors...)
+					wantLeading(t, sample.IntMul(low, m), minors...)
+					wantLeading(t, sample.IntMul(m, up), minors...)
+					wantLeading(t, sample.IntMul(sample.IntMul(low, m), up), minors...)
 				}
 			}
 		}
@@ -311,7 +261,7 @@ func crossed(n int, ends, signs []int) (m [][]int, minors []int) {
 			minor *= m[i][j]
 			order = append(order, j)
 		}
-		minor *= signOf(order)
+		minor *= sample.Sign(order)
 		minors[end] = minor
 		from = end + 1
 	}
@@ -326,16 +276,16 @@ func crossed(n int, ends, signs []int) (m [][]int, minors []int) {
 // columns.
 func TestPermutations(t *testing.T) {
 	for n := 1; n <= 5; n++ {
-		for seed, order := range ordersOf(n) {
+		for seed, order := range sample.OrdersOf(n) {
 			numbers := kind().Mixed(1, n, seed)[0]
 			ones, others := sample.Filled(n, n, 0), sample.Filled(n, n, 0)
-			want := signOf(order)
+			want := sample.Sign(order)
 			for i, j := range order {
 				ones[i][j] = 1
 				others[i][j] = numbers[i]
 				want *= numbers[i]
 			}
-			wantOf(t, ones, signOf(order))
+			wantOf(t, ones, sample.Sign(order))
 			wantOf(t, others, want)
 			wantExpanded(t, ones)
 			wantExpanded(t, others)
@@ -349,14 +299,14 @@ func TestOrders(t *testing.T) {
 		for seed := range 5 {
 			m := kind().Mixed(n, n, seed)
 			want := sample.IntDet(m)
-			for _, order := range ordersOf(n) {
+			for _, order := range sample.OrdersOf(n) {
 				var ordered [][]int
 				for _, i := range order {
 					ordered = append(ordered, m[i])
 				}
-				wantOf(t, ordered, signOf(order)*want)
+				wantOf(t, ordered, sample.Sign(order)*want)
 				wantExpanded(t, ordered)
-				wantExpanded(t, turned(ordered))
+				wantExpanded(t, sample.Turned(ordered))
 			}
 		}
 	}
@@ -378,9 +328,9 @@ func TestTriangles(t *testing.T) {
 				lowMinors[i], upMinors[i] = lowMinor, upMinor
 			}
 			wantLeading(t, low, lowMinors...)
-			wantLeading(t, turned(low), lowMinors...)
+			wantLeading(t, sample.Turned(low), lowMinors...)
 			wantLeading(t, up, upMinors...)
-			wantLeading(t, turned(up), upMinors...)
+			wantLeading(t, sample.Turned(up), upMinors...)
 		}
 	}
 }
@@ -390,8 +340,8 @@ func TestProducts(t *testing.T) {
 	for n := 1; n <= 5; n++ {
 		for seed := range 100 {
 			a, b := few(n, n, seed), few(n, n, seed+200)
-			wantOf(t, product(a, b), sample.IntDet(a)*sample.IntDet(b))
-			wantExpanded(t, product(a, b))
+			wantOf(t, sample.IntMul(a, b), sample.IntDet(a)*sample.IntDet(b))
+			wantExpanded(t, sample.IntMul(a, b))
 		}
 	}
 }
@@ -402,7 +352,7 @@ func TestRanks(t *testing.T) {
 	for n := 2; n <= 5; n++ {
 		for rank := 1; rank < n; rank++ {
 			for seed := range 50 {
-				m := product(few(n, rank, seed), few(rank, n, seed+300))
+				m := sample.IntMul(few(n, rank, seed), few(rank, n, seed+300))
 				wantOf(t, m, 0)
 				wantExpanded(t, m)
 				got, err := Leading(m)
@@ -426,16 +376,16 @@ func TestEqualRows(t *testing.T) {
 			m := kind().Mixed(n, n, i)
 			clear(m[i])
 			wantOf(t, m, 0)
-			wantOf(t, turned(m), 0)
+			wantOf(t, sample.Turned(m), 0)
 			wantExpanded(t, m)
-			wantExpanded(t, turned(m))
+			wantExpanded(t, sample.Turned(m))
 			for k := range i {
 				m := kind().Mixed(n, n, i+k)
 				m[i] = slices.Clone(m[k])
 				wantOf(t, m, 0)
-				wantOf(t, turned(m), 0)
+				wantOf(t, sample.Turned(m), 0)
 				wantExpanded(t, m)
-				wantExpanded(t, turned(m))
+				wantExpanded(t, sample.Turned(m))
 			}
 		}
 	}

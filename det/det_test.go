@@ -48,19 +48,6 @@ func wantSign(t *testing.T, order []int, want int) {
 	}
 }
 
-// signOf returns the sign that the number of inversions gives an order.
-func signOf(order []int) int {
-	sign := 1
-	for i, n := range order {
-		for _, later := range order[i+1:] {
-			if n > later {
-				sign = -sign
-			}
-		}
-	}
-	return sign
-}
-
 // isOrder tells whether each number from 0 on is in a list once.
 func isOrder(numbers []int) bool {
 	for n := range numbers {
@@ -71,39 +58,12 @@ func isOrder(numbers []int) bool {
 	return true
 }
 
-// upTo returns the numbers from 0 to n-1.
-func upTo(n int) []int {
-	var numbers []int
-	for k := range n {
-		numbers = append(numbers, k)
-	}
-	return numbers
-}
-
-// ordersOf returns all orders of the numbers from 0 to n-1.
-func ordersOf(n int) [][]int {
-	var column [][]int
-	for _, k := range upTo(n) {
-		column = append(column, []int{k})
-	}
-	var l [][]int
-	for _, rows := range sample.Orders(column) {
-		l = append(l, slices.Concat(rows...))
-	}
-	return l
-}
-
 // shuffled returns an order of the numbers from 0 to n-1 that follows no plain
 // rule.
 func shuffled(n, seed int) []int {
-	order, keys := upTo(n), sample.Mixed(1, n, seed)[0]
+	order, keys := sample.UpTo(n), sample.Mixed(1, n, seed)[0]
 	slices.SortStableFunc(order, func(a, b int) int { return keys[a] - keys[b] })
 	return order
-}
-
-// element returns an integer as an element of the field.
-func element(n int) int {
-	return (n%9_973 + 9_973) % 9_973
 }
 
 func TestOf(t *testing.T) {
@@ -165,9 +125,9 @@ func TestPlainMatrices(t *testing.T) {
 func TestAllElements(t *testing.T) {
 	for n := range 9_973 {
 		wantOf(t, [][]int{{n}}, n)
-		wantOf(t, [][]int{{n, 0}, {5, 9_972}}, element(-n))
-		wantOf(t, [][]int{{0, n}, {n, 0}}, element(-n*n))
-		wantOf(t, [][]int{{1, n}, {n, 1}}, element(1-n*n))
+		wantOf(t, [][]int{{n, 0}, {5, 9_972}}, sample.Element(-n))
+		wantOf(t, [][]int{{0, n}, {n, 0}}, sample.Element(-n*n))
+		wantOf(t, [][]int{{1, n}, {n, 1}}, sample.Element(1-n*n))
 	}
 }
 
@@ -211,17 +171,17 @@ func TestFewElements(t *testing.T) {
 // columns: all products of the definition but one are 0.
 func TestPermutations(t *testing.T) {
 	for n := 1; n <= 5; n++ {
-		for seed, order := range ordersOf(n) {
+		for seed, order := range sample.OrdersOf(n) {
 			numbers := sample.Mixed(1, n, seed)[0]
 			plainOnes, others := sample.Filled(n, n, 0), sample.Filled(n, n, 0)
-			product := signOf(order)
+			product := sample.Sign(order)
 			for i, j := range order {
 				plainOnes[i][j] = 1
 				others[i][j] = numbers[i]
 				product = product * numbers[i] % 9_973
 			}
-			wantOf(t, plainOnes, element(signOf(order)))
-			wantOf(t, others, element(product))
+			wantOf(t, plainOnes, sample.Element(sample.Sign(order)))
+			wantOf(t, others, sample.Element(product))
 		}
 	}
 }
@@ -308,12 +268,12 @@ func TestOrders(t *testing.T) {
 		for seed := range 3 {
 			m := sample.Mixed(n, n, seed)
 			det := sample.Det(m)
-			for _, order := range ordersOf(n) {
+			for _, order := range sample.OrdersOf(n) {
 				var ordered [][]int
 				for _, i := range order {
 					ordered = append(ordered, m[i])
 				}
-				wantOf(t, ordered, element(signOf(order)*det))
+				wantOf(t, ordered, sample.Element(sample.Sign(order)*det))
 			}
 		}
 	}
@@ -344,7 +304,7 @@ func TestAllDeterminants(t *testing.T) {
 		for want := range 9_973 {
 			m := sample.Unit(n)
 			// With a 1 opposite, the product of these two is taken from 1.
-			m[0][n-1], m[n-1][0] = element(1-want), 1
+			m[0][n-1], m[n-1][0] = sample.Element(1-want), 1
 			wantOf(t, m, want)
 		}
 	}
@@ -401,8 +361,8 @@ func TestSign(t *testing.T) {
 
 func TestSignOfAllOrders(t *testing.T) {
 	for n := range 9 {
-		for _, order := range ordersOf(n) {
-			wantSign(t, order, signOf(order))
+		for _, order := range sample.OrdersOf(n) {
+			wantSign(t, order, sample.Sign(order))
 		}
 	}
 }
@@ -416,7 +376,7 @@ func TestSignOfAllLists(t *testing.T) {
 			if at == n {
 				want := 0
 				if isOrder(list) {
-					want = signOf(list)
+					want = sample.Sign(list)
 				}
 				wantSign(t, list, want)
 				return
@@ -433,23 +393,23 @@ func TestSignOfAllLists(t *testing.T) {
 // TestSignOfManyNumbers has orders of more numbers than a matrix has rows.
 func TestSignOfManyNumbers(t *testing.T) {
 	for n := range 120 {
-		order := upTo(n)
+		order := sample.UpTo(n)
 		wantSign(t, order, 1)
 		for seed := range 10 {
 			mixed := shuffled(n, seed)
-			wantSign(t, mixed, signOf(mixed))
+			wantSign(t, mixed, sample.Sign(mixed))
 		}
 		slices.Reverse(order)
-		wantSign(t, order, signOf(order))
+		wantSign(t, order, sample.Sign(order))
 		for k := range n {
-			turned := slices.Concat(upTo(n)[k:], upTo(n)[:k])
-			wantSign(t, turned, signOf(turned))
+			turned := slices.Concat(sample.UpTo(n)[k:], sample.UpTo(n)[:k])
+			wantSign(t, turned, sample.Sign(turned))
 		}
 		for i := range n {
 			for _, k := range []int{0, n / 2, n - 1} {
-				changed := upTo(n)
+				changed := sample.UpTo(n)
 				changed[i], changed[k] = changed[k], changed[i]
-				wantSign(t, changed, signOf(changed))
+				wantSign(t, changed, sample.Sign(changed))
 			}
 		}
 	}
@@ -458,7 +418,7 @@ func TestSignOfManyNumbers(t *testing.T) {
 // TestSignOfVeryManyNumbers has far more pairs than numbers.
 func TestSignOfVeryManyNumbers(t *testing.T) {
 	for _, n := range []int{1 << 20, 1<<20 + 1, 1<<20 + 2, 1<<20 + 3} {
-		order := upTo(n)
+		order := sample.UpTo(n)
 		if got := Sign(order); got != 1 {
 			t.Errorf("the sign of %d ascending numbers is %d", n, got)
 		}
@@ -466,7 +426,7 @@ func TestSignOfVeryManyNumbers(t *testing.T) {
 		if got, want := Sign(order), 1-n*(n-1)/2%2*2; got != want {
 			t.Errorf("the sign of %d descending numbers is %d, want %d", n, got, want)
 		}
-		turned := append(upTo(n)[1:], 0)
+		turned := append(sample.UpTo(n)[1:], 0)
 		if got, want := Sign(turned), 1-(n-1)%2*2; got != want {
 			t.Errorf("the sign of %d numbers with the first one last is %d, want %d", n, got, want)
 		}
@@ -489,7 +449,7 @@ func TestNoOrder(t *testing.T) {
 			-1, -2, -n, -n - 1, n, n + 1, 2 * n, 9_972, 9_973, -9_973, api.MaxNum, -api.MaxNum,
 			1 << 32, 1<<32 + 1, -1 << 32, 1 << 62, math.MaxInt, math.MaxInt - 1, math.MinInt, math.MinInt + 1,
 		}
-		for _, order := range [][]int{upTo(n), shuffled(n, 1), shuffled(n, 2), shuffled(n, 3)} {
+		for _, order := range [][]int{sample.UpTo(n), shuffled(n, 1), shuffled(n, 2), shuffled(n, 3)} {
 			for i := range n {
 				for _, k := range wrong {
 					list := slices.Clone(order)
@@ -504,7 +464,7 @@ func TestNoOrder(t *testing.T) {
 				}
 			}
 		}
-		for _, k := range append(wrong, upTo(n)...) {
+		for _, k := range append(wrong, sample.UpTo(n)...) {
 			want := 0
 			if n == 1 && k == 0 {
 				want = 1

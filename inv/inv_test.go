@@ -9,22 +9,6 @@ import (
 	"rankmere/sample"
 )
 
-// element returns an integer as an element of the field.
-func element(n int) int {
-	return (n%9_973 + 9_973) % 9_973
-}
-
-// turned returns the transpose of a square matrix.
-func turned(m [][]int) [][]int {
-	l := sample.Clone(m)
-	for i, row := range m {
-		for j, n := range row {
-			l[j][i] = n
-		}
-	}
-	return l
-}
-
 // upright returns a list as a matrix of one column.
 func upright(l []int) [][]int {
 	var m [][]int
@@ -44,7 +28,7 @@ func plus(a, b [][]int) [][]int {
 	l := sample.Clone(a)
 	for i, row := range l {
 		for j := range row {
-			row[j] = element(row[j] + b[i][j])
+			row[j] = sample.Element(row[j] + b[i][j])
 		}
 	}
 	return l
@@ -54,7 +38,7 @@ func plus(a, b [][]int) [][]int {
 func negated(l []int) []int {
 	var all []int
 	for _, n := range l {
-		all = append(all, element(-n))
+		all = append(all, sample.Element(-n))
 	}
 	return all
 }
@@ -125,7 +109,7 @@ func wantChangeError(t *testing.T, undo [][]int, u, v []int, want api.Errno) {
 func wantFormula(t *testing.T, undo [][]int, u, v []int) {
 	t.Helper()
 	column, row := sample.Mul(undo, upright(u)), sample.Mul([][]int{v}, undo)
-	k := element(1 + sample.Mul([][]int{v}, column)[0][0])
+	k := sample.Element(1 + sample.Mul([][]int{v}, column)[0][0])
 	if k == 0 {
 		wantChangeError(t, undo, u, v, api.ErrNone)
 		return
@@ -136,7 +120,7 @@ func wantFormula(t *testing.T, undo [][]int, u, v []int) {
 	}
 	for i := range undo {
 		for j, n := range undo[i] {
-			if element(k*got[i][j]+column[i][0]*row[0][j]) != k*n%9_973 {
+			if sample.Element(k*got[i][j]+column[i][0]*row[0][j]) != k*n%9_973 {
 				t.Fatalf("Change(%v, %v, %v) = %v, but k is %d", undo, u, v, got, k)
 			}
 		}
@@ -207,7 +191,7 @@ func TestOf(t *testing.T) {
 	} {
 		wantOf(t, c.m, c.want)
 		wantOf(t, c.want, c.m)
-		wantOf(t, turned(c.m), turned(c.want))
+		wantOf(t, sample.Turned(c.m), sample.Turned(c.want))
 		wantInverse(t, c.m)
 	}
 }
@@ -229,7 +213,7 @@ func TestSingular(t *testing.T) {
 		sample.With(5, 5, 2, 2, 1),
 	} {
 		wantOfError(t, m, api.ErrNone)
-		wantOfError(t, turned(m), api.ErrNone)
+		wantOfError(t, sample.Turned(m), api.ErrNone)
 		wantInverse(t, m)
 	}
 	for n := 2; n <= 5; n++ {
@@ -275,10 +259,10 @@ func TestChange(t *testing.T) {
 	} {
 		if c.want == nil {
 			wantChangeError(t, c.undo, c.u, c.v, api.ErrNone)
-			wantChangeError(t, turned(c.undo), c.v, c.u, api.ErrNone)
+			wantChangeError(t, sample.Turned(c.undo), c.v, c.u, api.ErrNone)
 		} else {
 			wantChange(t, c.undo, c.u, c.v, c.want)
-			wantChange(t, turned(c.undo), c.v, c.u, turned(c.want))
+			wantChange(t, sample.Turned(c.undo), c.v, c.u, sample.Turned(c.want))
 		}
 		wantFormula(t, c.undo, c.u, c.v)
 	}
@@ -379,7 +363,7 @@ func TestInverses(t *testing.T) {
 				t.Fatalf("Of(%v) = %v, which is not the inverse", a, first)
 			}
 			wantOf(t, first, a)
-			wantOf(t, turned(a), turned(first))
+			wantOf(t, sample.Turned(a), sample.Turned(first))
 			wantOf(t, sample.Mul(a, b), sample.Mul(second, first))
 		}
 	}

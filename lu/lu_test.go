@@ -9,25 +9,16 @@ import (
 	"rankmere/sample"
 )
 
-// upTo returns the numbers from 0 to n-1.
-func upTo(n int) []int {
-	var numbers []int
-	for k := range n {
-		numbers = append(numbers, k)
-	}
-	return numbers
-}
-
 // inOrder returns the rows of m in this order.
 func inOrder(m [][]int, order []int) [][]int {
-	return sample.Part(m, order, upTo(len(m)))
+	return sample.Part(m, order, sample.UpTo(len(m)))
 }
 
 // orderOf returns the order of the rows without an elimination. What it leaves of
 // an element is 0 if the determinant of this row and column is, beside the rows
 // that have been subtracted and their columns.
 func orderOf(m [][]int) []int {
-	order := upTo(len(m))
+	order := sample.UpTo(len(m))
 	var rows, columns []int
 	for c := range m {
 		for k := c; k < len(m); k++ {
@@ -153,11 +144,11 @@ func TestSplit(t *testing.T) {
 			[][]int{{1, 0, 0, 0}, {0, 1, 0, 0}, {0, 0, 1, 0}, {0, 2, 0, 1}},
 			[][]int{{1, 1, 1, 1}, {0, 2, 0, 5}, {0, 0, 3, 1}, {0, 0, 0, 9_969}},
 		},
-		{sample.Filled(3, 3, 0), upTo(3), sample.Unit(3), sample.Filled(3, 3, 0)},
-		{sample.Unit(5), upTo(5), sample.Unit(5), sample.Unit(5)},
+		{sample.Filled(3, 3, 0), sample.UpTo(3), sample.Unit(3), sample.Filled(3, 3, 0)},
+		{sample.Unit(5), sample.UpTo(5), sample.Unit(5), sample.Unit(5)},
 		{
 			[][]int{{1, 1, 1, 1, 1}, {1, 2, 2, 2, 2}, {1, 2, 3, 3, 3}, {1, 2, 3, 4, 4}, {1, 2, 3, 4, 5}},
-			upTo(5),
+			sample.UpTo(5),
 			[][]int{{1, 0, 0, 0, 0}, {1, 1, 0, 0, 0}, {1, 1, 1, 0, 0}, {1, 1, 1, 1, 0}, {1, 1, 1, 1, 1}},
 			[][]int{{1, 1, 1, 1, 1}, {0, 1, 1, 1, 1}, {0, 0, 1, 1, 1}, {0, 0, 0, 1, 1}, {0, 0, 0, 0, 1}},
 		},
@@ -171,7 +162,7 @@ func TestSplit(t *testing.T) {
 // or if nothing is done for column c, where that is the number of rows.
 func made(exchanges []int, seed int) (order []int, low, up [][]int) {
 	n := len(exchanges)
-	order, low, up = upTo(n), sample.Mixed(n, n, seed), sample.Mixed(n, n, seed+500)
+	order, low, up = sample.UpTo(n), sample.Mixed(n, n, seed), sample.Mixed(n, n, seed+500)
 	for c, k := range exchanges {
 		clear(up[c][:c])
 		if k < n {
@@ -225,7 +216,7 @@ func TestSingleElements(t *testing.T) {
 		for i := range n {
 			for j := range n {
 				for _, k := range []int{1, 2, 9_972} {
-					order, row := upTo(n), i
+					order, row := sample.UpTo(n), i
 					if i > j {
 						order[i], order[j] = j, i
 						row = j

@@ -18,28 +18,12 @@ func noPlaces(size int) []int {
 	}
 }
 
-// element returns an integer as an element of the field.
-func element(n int) int {
-	return (n%9_973 + 9_973) % 9_973
-}
-
 // times returns the matrix whose elements are those of m times n.
 func times(m [][]int, n int) [][]int {
 	l := sample.Clone(m)
 	for _, row := range l {
 		for j := range row {
-			row[j] = element(n * row[j])
-		}
-	}
-	return l
-}
-
-// turned returns the transpose.
-func turned(m [][]int) [][]int {
-	l := sample.Filled(len(m[0]), len(m), 0)
-	for i, row := range m {
-		for j, n := range row {
-			l[j][i] = n
+			row[j] = sample.Element(n * row[j])
 		}
 	}
 	return l
@@ -95,7 +79,7 @@ func wantMinors(t *testing.T, m [][]int) {
 			wantOf(t, m, i, j, n)
 			want[j][i] = n
 			if i%2 != j%2 {
-				want[j][i] = element(-n)
+				want[j][i] = sample.Element(-n)
 			}
 		}
 	}
@@ -184,7 +168,7 @@ func TestAdj(t *testing.T) {
 		},
 	} {
 		wantAdj(t, c.m, c.want)
-		wantAdj(t, turned(c.m), turned(c.want))
+		wantAdj(t, sample.Turned(c.m), sample.Turned(c.want))
 		wantMinors(t, c.m)
 	}
 }
@@ -219,7 +203,7 @@ func TestAllElements(t *testing.T) {
 			wantOf(t, m, 0, 1, c)
 			wantOf(t, m, 1, 0, b)
 			wantOf(t, m, 1, 1, a)
-			wantAdj(t, m, [][]int{{d, element(-b)}, {element(-c), a}})
+			wantAdj(t, m, [][]int{{d, sample.Element(-b)}, {sample.Element(-c), a}})
 		}
 	}
 }
@@ -320,7 +304,7 @@ func TestProducts(t *testing.T) {
 				t.Fatal(err)
 			}
 			wantAdj(t, sample.Mul(a, b), sample.Mul(second, first))
-			wantAdj(t, turned(a), turned(first))
+			wantAdj(t, sample.Turned(a), sample.Turned(first))
 		}
 	}
 }

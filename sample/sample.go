@@ -88,30 +88,61 @@ func Invertible(n, seed int) [][]int {
 	return Mul(up, low)
 }
 
-// Mul returns the product of two matrices. Its sums of at most 5 products need
-// no more than an int.
+// Mul returns the product of two matrices over the field.
 func Mul(a, b [][]int) [][]int {
+	return multiply(a, b, Element)
+}
+
+// IntMul returns the product of two matrices of integers.
+func IntMul(a, b [][]int) [][]int {
+	return multiply(a, b, asItIs)
+}
+
+// multiply returns the product of two matrices, whose elements are all reduced.
+// Sums of at most 5 products need no more than an int before.
+func multiply(a, b [][]int, reduced func(n int) int) [][]int {
 	product := Filled(len(a), len(b[0]), 0)
 	for i, row := range product {
 		for j := range row {
 			for k := range b {
 				row[j] += a[i][k] * b[k][j]
 			}
-			row[j] %= 9_973
+			row[j] = reduced(row[j])
 		}
 	}
 	return product
 }
 
+// Element returns an integer as an element of the field.
+func Element(n int) int {
+	return (n%9_973 + 9_973) % 9_973
+}
+
+// asItIs returns an integer that is not to be reduced.
+func asItIs(n int) int {
+	return n
+}
+
+// Turned returns the transpose of a matrix.
+func Turned(m [][]int) [][]int {
+	l := Filled(len(m[0]), len(m), 0)
+	for i, row := range m {
+		for j, n := range row {
+			l[j][i] = n
+		}
+	}
+	return l
+}
+
 // Det returns the determinant of a square matrix over the field.
 func Det(m [][]int) int {
-	return expand(m, func(n int) int { return (n%9_973 + 9_973) % 9_973 })
+	return expand(m, Element)
 }
 
 // IntDet returns the determinant of a square matrix of integers, which are so
 // small that an int has room for it.
 func IntDet(m [][]int) int {
-	return expand(m, func(n int) int { return n })
+	return expand(m, asItIs)
 }
 
 // expand returns the determinant of a square matrix, from those of the matrices

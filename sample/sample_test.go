@@ -85,6 +85,9 @@ func TestMade(t *testing.T) {
 		{Unit(2), [][]int{{1, 0}, {0, 1}}},
 		{Mul([][]int{{1, 2}, {3, 4}}, [][]int{{5, 6}, {7, 8}}), [][]int{{19, 22}, {43, 50}}},
 		{Mul([][]int{{9_972, 1}}, [][]int{{9_972}, {9_972}}), [][]int{{0}}},
+		{IntMul([][]int{{1, 2}, {3, 4}}, [][]int{{5, 6}, {7, -8}}), [][]int{{19, -10}, {43, -14}}},
+		{IntMul([][]int{{9_972, 1}}, [][]int{{9_972}, {9_972}}), [][]int{{9_972 * 9_973}}},
+		{Turned([][]int{{1, 2, 3}, {4, 5, 6}}), [][]int{{1, 4}, {2, 5}, {3, 6}}},
 		{Without([][]int{{1, 2, 3}, {4, 5, 6}, {7, 8, 9}}, 1, 2), [][]int{{1, 2}, {7, 8}}},
 		{Mixed(3, 4, 1), Mixed(3, 4, 1)},
 	} {
@@ -247,6 +250,33 @@ func TestOrders(t *testing.T) {
 	}
 	if got := Orders([][]int{{1}, {2}, {3}}); !slices.EqualFunc(got, want, Same) {
 		t.Errorf("got %v", got)
+	}
+}
+
+func TestOrdersOf(t *testing.T) {
+	for n, want := range [][]int{nil, {1}, {1, -1}, {1, -1, -1, 1, 1, -1}} {
+		all := OrdersOf(n)
+		for k, sign := range want {
+			if got := Sign(all[k]); got != sign {
+				t.Errorf("Sign(%v) = %d, want %d", all[k], got, sign)
+			}
+		}
+		for _, order := range all {
+			if slices.Sort(order); !slices.Equal(order, UpTo(n)) {
+				t.Errorf("there are numbers %v, want %v", order, UpTo(n))
+			}
+		}
+	}
+	if got := OrdersOf(3); !Same(got, [][]int{{0, 1, 2}, {0, 2, 1}, {1, 0, 2}, {1, 2, 0}, {2, 0, 1}, {2, 1, 0}}) {
+		t.Errorf("OrdersOf(3) = %v", got)
+	}
+}
+
+func TestElement(t *testing.T) {
+	for _, c := range [][2]int{{0, 0}, {7, 7}, {9_972, 9_972}, {9_973, 0}, {-1, 9_972}, {-9_973, 0}, {99_735, 5}} {
+		if got := Element(c[0]); got != c[1] {
+			t.Errorf("Element(%d) = %d, want %d", c[0], got, c[1])
+		}
 	}
 }
 
