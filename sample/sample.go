@@ -99,7 +99,7 @@ func IntMul(a, b [][]int) [][]int {
 }
 
 // multiply returns the product of two matrices, whose elements are all reduced.
-// Sums of at most 5 products need no more than an int before.
+// Sums of few products need no more than an int before.
 func multiply(a, b [][]int, reduced func(n int) int) [][]int {
 	product := Filled(len(a), len(b[0]), 0)
 	for i, row := range product {
@@ -153,7 +153,10 @@ func expand(m [][]int, reduced func(n int) int) int {
 	}
 	sum := 0
 	for j, n := range m[0] {
-		sum += (1 - j%2*2) * n * expand(Without(m, 0, j), reduced)
+		// Larger matrices take far too long unless most elements are 0.
+		if n != 0 {
+			sum += (1 - j%2*2) * n * expand(Without(m, 0, j), reduced)
+		}
 	}
 	return reduced(sum)
 }

@@ -154,6 +154,7 @@ func TestDet(t *testing.T) {
 		{[][]int{{0, 0, 1}, {1, 0, 0}, {0, 1, 0}}, 1},
 		{[][]int{{1, 2, 3}, {4, 5, 6}, {7, 8, 10}}, 9_970},
 		{Filled(5, 5, 9_972), 0},
+		{Unit(12), 1},
 	} {
 		if got := Det(c.m); got != c.want {
 			t.Errorf("Det(%v) = %d, want %d", c.m, got, c.want)
