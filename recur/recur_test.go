@@ -56,32 +56,6 @@ func wholeTerms(factors, start []int, many int) []int {
 	return l
 }
 
-// power returns the n-th power of an element by n multiplications.
-func power(x, n int) int {
-	p := 1
-	for range n {
-		p = p * x % 9_973
-	}
-	return p
-}
-
-// withRoots returns the factors of the sequences that are sums of the powers of
-// these numbers, each times some number of its own.
-func withRoots(roots []int) []int {
-	// The polynomial with these roots, from its highest coefficient on.
-	f := []int{1}
-	for _, x := range roots {
-		f = append(f, 0)
-		for i := len(f) - 1; i > 0; i-- {
-			f[i] = sample.Element(f[i] - x*f[i-1])
-		}
-	}
-	for i, n := range f {
-		f[i] = sample.Element(-n)
-	}
-	return f[1:]
-}
-
 // wantRow fails the test unless Row returns this and no error.
 func wantRow(t *testing.T, factors, start []int, many int, want []int) {
 	t.Helper()
@@ -202,7 +176,7 @@ func TestLast(t *testing.T) {
 	for _, at := range []int{997, 998, 999, 1_000} {
 		wantTerm(t, []int{1}, []int{7}, at, 7)
 		wantTerm(t, []int{0}, []int{7}, at, 0)
-		wantTerm(t, []int{2}, []int{1}, at, power(2, at))
+		wantTerm(t, []int{2}, []int{1}, at, sample.Power(2, at))
 		wantTerm(t, []int{9_972}, []int{1}, at, []int{1, 9_972}[at%2])
 		wantTerm(t, []int{2, 9_972}, []int{0, 1}, at, at)
 		wantTerm(t, []int{2, 9_972}, []int{5, 8}, at, 5+3*at)
@@ -347,14 +321,14 @@ func TestRoots(t *testing.T) {
 			row := make([]int, 40)
 			for at := range row {
 				for k, x := range roots {
-					row[at] = (row[at] + times[k]*power(x, at)) % 9_973
+					row[at] = (row[at] + times[k]*sample.Power(x, at)) % 9_973
 				}
 			}
-			factors := withRoots(roots)
+			factors := sample.FactorsOf(roots)
 			wantFirst(t, factors, row[:size], row)
 			last := 0
 			for k, x := range roots {
-				last = (last + times[k]*power(x, 1_000)) % 9_973
+				last = (last + times[k]*sample.Power(x, 1_000)) % 9_973
 			}
 			wantTerm(t, factors, row[:size], 1_000, last)
 		}
@@ -386,7 +360,7 @@ func TestPeriods(t *testing.T) {
 	for _, x := range []int{1, 2, 3, 11, 4_986, 9_971, 9_972} {
 		for _, n := range []int{12, 18, 36} {
 			period := 9_972 / n
-			factors := []int{power(x, n)}
+			factors := []int{sample.Power(x, n)}
 			row, err := Row(factors, []int{5}, 1_000)
 			if err != nil || !slices.Equal(row[period:], row[:1_000-period]) {
 				t.Fatalf("Row(%v, [5], 1000) = %v, %v, want a period of %d", factors, row, err, period)

@@ -1,5 +1,5 @@
-// Package sample makes matrices for the tests of other packages, and looks at
-// what happens to them.
+// Package sample makes numbers and matrices for the tests of other packages, and
+// looks at what happens to them.
 //
 // It uses none of the packages that it helps to test, and the numbers of the
 // document instead of the constants.

@@ -281,6 +281,30 @@ func TestElement(t *testing.T) {
 	}
 }
 
+func TestPower(t *testing.T) {
+	for _, c := range [][3]int{{0, 0, 1}, {7, 0, 1}, {0, 1, 0}, {7, 1, 7}, {3, 4, 81}, {9_972, 2, 1}, {100, 2, 27}, {2, 9_972, 1}} {
+		if got := Power(c[0], c[1]); got != c[2] {
+			t.Errorf("Power(%d, %d) = %d, want %d", c[0], c[1], got, c[2])
+		}
+	}
+}
+
+func TestFactorsOf(t *testing.T) {
+	for _, c := range []struct{ roots, want []int }{
+		{nil, nil},
+		{[]int{0}, []int{0}},
+		{[]int{7}, []int{7}},
+		{[]int{1, 1}, []int{2, 9_972}},
+		{[]int{1, 9_972}, []int{0, 1}},
+		{[]int{2, 5}, []int{7, 9_963}},
+		{[]int{1, 2, 3}, []int{6, 9_962, 6}},
+	} {
+		if got := FactorsOf(c.roots); !slices.Equal(got, c.want) {
+			t.Errorf("FactorsOf(%v) = %v, want %v", c.roots, got, c.want)
+		}
+	}
+}
+
 // errorOf returns the error that the document wants for a list of rows.
 func errorOf(k Kind, m [][]int) api.Errno {
 	if len(m) == 0 || len(m[0]) == 0 {
