@@ -29,14 +29,9 @@ func (m *matrix) lists() []*[]int {
 	return []*[]int{&m.mid, &m.above, &m.below}
 }
 
-// numbers returns elements that follow no plain rule.
-func numbers(length, seed int) []int {
-	return sample.Mixed(1, length, seed)[0]
-}
-
 // mixed returns a matrix of this many rows; another seed makes another one.
 func mixed(rows, seed int) matrix {
-	return matrix{numbers(rows, 3*seed), numbers(rows-1, 3*seed+1), numbers(rows-1, 3*seed+2)}
+	return matrix{sample.Numbers(rows, 3*seed), sample.Numbers(rows-1, 3*seed+1), sample.Numbers(rows-1, 3*seed+2)}
 }
 
 // filled returns a matrix that has the same number everywhere in a list.
@@ -149,7 +144,7 @@ func TestDet(t *testing.T) {
 		{matrix{[]int{2, 3, 5, 7, 11}, []int{9, 9, 9, 9}, []int{0, 0, 0, 0}}, 2_310},
 	} {
 		wantDet(t, c.m, c.want)
-		wantAll(t, c.m, numbers(len(c.m.mid), 1))
+		wantAll(t, c.m, sample.Numbers(len(c.m.mid), 1))
 	}
 }
 
@@ -217,7 +212,7 @@ func TestFull(t *testing.T) {
 		},
 	} {
 		wantFull(t, c.m, c.want)
-		wantAll(t, c.m, numbers(len(c.m.mid), 2))
+		wantAll(t, c.m, sample.Numbers(len(c.m.mid), 2))
 	}
 }
 
@@ -229,7 +224,7 @@ func TestTooManyRows(t *testing.T) {
 			if got, err := Full(m.mid, m.above, m.below); len(got) != 0 || plain.Told(err) != api.ErrFull {
 				t.Fatalf("Full of %v = %v, %v, want nothing and %v", m, got, err, api.ErrFull)
 			}
-			wantAll(t, m, numbers(rows, 3))
+			wantAll(t, m, sample.Numbers(rows, 3))
 		}
 	}
 }
@@ -238,7 +233,7 @@ func TestTooManyRows(t *testing.T) {
 func TestAllSizes(t *testing.T) {
 	for rows := 1; rows <= 10; rows++ {
 		for seed := range 50 {
-			m, x := mixed(rows, seed), numbers(rows, seed+200)
+			m, x := mixed(rows, seed), sample.Numbers(rows, seed+200)
 			wantAll(t, m, x)
 			for _, kinds := range []int{2, 3} {
 				few := split(slices.Concat(m.mid, m.above, m.below))
@@ -251,7 +246,7 @@ func TestAllSizes(t *testing.T) {
 			}
 		}
 		wantAll(t, filled(rows, 9_972, 9_972, 9_972), slices.Repeat([]int{9_972}, rows))
-		wantAll(t, filled(rows, 0, 0, 0), numbers(rows, 4))
+		wantAll(t, filled(rows, 0, 0, 0), sample.Numbers(rows, 4))
 	}
 }
 
@@ -267,7 +262,7 @@ func TestFewElements(t *testing.T) {
 		{4, []int{0, 1}},
 	} {
 		for all := range sample.All(1, 3*c.rows-2, c.elements...) {
-			wantAll(t, split(all[0]), numbers(c.rows, 5))
+			wantAll(t, split(all[0]), sample.Numbers(c.rows, 5))
 		}
 	}
 }
@@ -295,7 +290,7 @@ func TestSingleElements(t *testing.T) {
 			for _, n := range []int{1, 2, 9_972} {
 				all := make([]int, 3*rows-2)
 				all[place] = n
-				wantAll(t, split(all), numbers(rows, place))
+				wantAll(t, split(all), sample.Numbers(rows, place))
 				wantAll(t, split(all), slices.Repeat([]int{9_972}, rows))
 			}
 		}
@@ -311,13 +306,13 @@ func TestSingleNumbers(t *testing.T) {
 		for i, x := range sample.Unit(rows) {
 			wantMul(t, m, x, columns[i])
 			for _, n := range []int{0, 1, 2, 4_986, 9_971, 9_972} {
-				x := numbers(rows, 7)
+				x := sample.Numbers(rows, 7)
 				x[i] = n
 				wantAll(t, m, x)
 			}
 		}
 		wantMul(t, m, make([]int, rows), make([]int, rows))
-		wantMul(t, filled(rows, 1, 0, 0), numbers(rows, 8), numbers(rows, 8))
+		wantMul(t, filled(rows, 1, 0, 0), sample.Numbers(rows, 8), sample.Numbers(rows, 8))
 	}
 }
 
@@ -477,7 +472,7 @@ func TestVectorRange(t *testing.T) {
 		for i := range rows {
 			for _, n := range sample.Outside() {
 				for _, m := range []matrix{mixed(rows, 5), filled(rows, 0, 0, 0), filled(rows, 1, 0, 0)} {
-					x := numbers(rows, 9)
+					x := sample.Numbers(rows, 9)
 					x[i] = n
 					wantMulError(t, m, x, api.ErrRange)
 					wantMulError(t, m, sample.With(1, rows, 0, i, n)[0], api.ErrRange)
@@ -554,7 +549,7 @@ func checkArguments(t *testing.T, m matrix, x []int) {
 func TestArguments(t *testing.T) {
 	for rows := 1; rows <= 12; rows++ {
 		for _, x := range [][]int{
-			nil, make([]int, rows), numbers(rows, 1), numbers(rows+1, 2), slices.Repeat([]int{9_973}, rows),
+			nil, make([]int, rows), sample.Numbers(rows, 1), sample.Numbers(rows+1, 2), slices.Repeat([]int{9_973}, rows),
 		} {
 			for _, m := range []matrix{mixed(rows, 6), filled(rows, 0, 0, 0), filled(rows, 1, 0, 0), filled(rows, 1, -1, 9_973)} {
 				checkArguments(t, m, x)
@@ -570,7 +565,7 @@ func TestArguments(t *testing.T) {
 // TestSharedArguments has lists that are the same memory as others, or as x, or
 // overlap.
 func TestSharedArguments(t *testing.T) {
-	line := numbers(12, 10)
+	line := sample.Numbers(12, 10)
 	before := slices.Clone(line)
 	for range 2 {
 		for rows := 1; rows <= 10; rows++ {

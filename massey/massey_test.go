@@ -13,11 +13,6 @@ import (
 // most is how many terms or coefficients there may be.
 const most = 16
 
-// numbers returns elements that follow no plain rule.
-func numbers(length, seed int) []int {
-	return sample.Mixed(1, length, seed)[0]
-}
-
 // few returns numbers below a small one that follow no plain rule.
 func few(length, below, seed int) []int {
 	return sample.Kind{Side: most, Least: 0, Most: below - 1}.Mixed(1, length, seed)[0]
@@ -208,7 +203,7 @@ func wantBad(t *testing.T, bad []int, want api.Errno) {
 	if got, err := Factors(bad); len(got) != 0 || plain.Told(err) != want {
 		t.Fatalf("Factors(%v) = %v, %v, want nothing and %v", bad, got, err, want)
 	}
-	for _, good := range [][]int{nil, {0}, {1, 2, 3}, numbers(most, 1), zeros(most)} {
+	for _, good := range [][]int{nil, {0}, {1, 2, 3}, sample.Numbers(most, 1), zeros(most)} {
 		wantGoesError(t, bad, good, want)
 		wantGoesError(t, good, bad, want)
 	}
@@ -320,7 +315,7 @@ func TestGoes(t *testing.T) {
 	}{
 		{nil, nil, true},
 		{nil, []int{1}, true},
-		{nil, numbers(16, 1), true},
+		{nil, sample.Numbers(16, 1), true},
 		{[]int{0}, nil, true},
 		{[]int{1}, nil, false},
 		{[]int{9_972}, nil, false},
@@ -362,8 +357,8 @@ func TestGoes(t *testing.T) {
 		{append(slices.Repeat([]int{9_972}, 7), 7), slices.Repeat([]int{9_972}, 7), true},
 		{append(slices.Repeat([]int{9_972}, 15), 15), slices.Repeat([]int{9_972}, 15), true},
 		{append(slices.Repeat([]int{9_972}, 15), 14), slices.Repeat([]int{9_972}, 15), false},
-		{numbers(16, 1), numbers(16, 2), true},
-		{numbers(16, 1), numbers(15, 2), false},
+		{sample.Numbers(16, 1), sample.Numbers(16, 2), true},
+		{sample.Numbers(16, 1), sample.Numbers(15, 2), false},
 	} {
 		wantGoes(t, c.row, c.factors, c.want)
 	}
@@ -393,7 +388,7 @@ func TestOneTerm(t *testing.T) {
 func TestLastTerm(t *testing.T) {
 	for size := range 8 {
 		for seed := range 5 {
-			factors, start := numbers(size, seed), numbers(size, seed+100)
+			factors, start := sample.Numbers(size, seed), sample.Numbers(size, seed+100)
 			for length := 2*size + 1; length <= most; length++ {
 				row := goOn(start, factors, length)
 				wantFactors(t, row, factors)
@@ -432,7 +427,7 @@ func TestFewElements(t *testing.T) {
 func TestAllLengths(t *testing.T) {
 	for length := range most + 1 {
 		for seed := range 30 {
-			row := numbers(length, seed)
+			row := sample.Numbers(length, seed)
 			wantRight(t, row)
 			for at := range row {
 				row[at] = 0
@@ -450,7 +445,7 @@ func TestAllLengths(t *testing.T) {
 func TestGoOn(t *testing.T) {
 	for size := range most + 1 {
 		for seed := range 30 {
-			factors, start := numbers(size, seed), numbers(size, seed+100)
+			factors, start := sample.Numbers(size, seed), sample.Numbers(size, seed+100)
 			for length := range most + 1 {
 				row := goOn(start, factors, length)
 				wantGoes(t, row, factors, true)
@@ -475,7 +470,7 @@ func TestJoined(t *testing.T) {
 		for second := range 6 {
 			for from := first + second; from < most; from++ {
 				for seed := range 4 {
-					row := goOn(numbers(first, seed), numbers(first, seed+100), from)
+					row := goOn(sample.Numbers(first, seed), sample.Numbers(first, seed+100), from)
 					row = goOn(row, few(second, 3, seed+200), most)
 					wantRight(t, row)
 				}
@@ -489,7 +484,7 @@ func TestJoined(t *testing.T) {
 func TestPowers(t *testing.T) {
 	for size := range 9 {
 		for seed := range 20 {
-			roots := numbers(size, seed)
+			roots := sample.Numbers(size, seed)
 			for k := range roots {
 				// Different remainders make different roots.
 				roots[k] = 1 + k + roots[k]/10*10%9_900
@@ -514,7 +509,7 @@ func TestPowers(t *testing.T) {
 func TestPolynomials(t *testing.T) {
 	for degree := range 8 {
 		for seed := range 20 {
-			f := numbers(degree+1, seed)
+			f := sample.Numbers(degree+1, seed)
 			f[degree] = 1 + f[degree]%9_972
 			row := make([]int, most)
 			for at := range row {
@@ -587,7 +582,7 @@ func TestOneByOne(t *testing.T) {
 func TestTimes(t *testing.T) {
 	for size := 1; size <= 8; size++ {
 		for seed := range 20 {
-			factors, start := few(size, 9_972, seed), numbers(size, seed+100)
+			factors, start := few(size, 9_972, seed), sample.Numbers(size, seed+100)
 			factors[size-1]++
 			row := goOn(start, factors, most)
 			wantFactors(t, row, factors)
@@ -617,7 +612,7 @@ func TestTimes(t *testing.T) {
 func TestChanges(t *testing.T) {
 	for size := range 8 {
 		for length := 2*size + 1; length <= most; length++ {
-			factors, start := few(size, 9_972, length), numbers(size, length+100)
+			factors, start := few(size, 9_972, length), sample.Numbers(size, length+100)
 			for i := range factors {
 				factors[i]++
 			}
@@ -657,7 +652,7 @@ func TestAllGoes(t *testing.T) {
 					row, factors := few(length, below, seed), few(size, below, seed+100)
 					wantGoes(t, row, factors, generate(row, factors))
 				}
-				wantGoes(t, numbers(length, seed), numbers(size, seed+100), length <= size)
+				wantGoes(t, sample.Numbers(length, seed), sample.Numbers(size, seed+100), length <= size)
 			}
 		}
 	}
@@ -677,7 +672,7 @@ func TestTooMany(t *testing.T) {
 		}
 	}
 	// Spare capacity does not count.
-	long := numbers(17, 1)
+	long := sample.Numbers(17, 1)
 	wantRight(t, long[:16])
 	wantRight(t, long[1:])
 	wantGoes(t, long[:1], long[:16], true)
@@ -689,7 +684,7 @@ func TestRange(t *testing.T) {
 		for _, n := range sample.Outside() {
 			for i := range length {
 				wantBad(t, sample.With(1, length, 0, i, n)[0], api.ErrRange)
-				bad := numbers(length, i)
+				bad := sample.Numbers(length, i)
 				bad[i] = n
 				wantBad(t, bad, api.ErrRange)
 			}
@@ -789,11 +784,11 @@ func checkArguments(t *testing.T, row, factors []int) {
 func TestArguments(t *testing.T) {
 	for length := range most + 2 {
 		for _, row := range [][]int{
-			numbers(length, 1), zeros(length), slices.Repeat([]int{1}, length), slices.Repeat([]int{-1}, length),
-			slices.Repeat([]int{9_973}, length), goOn(numbers(3, 1), numbers(3, 2), length),
+			sample.Numbers(length, 1), zeros(length), slices.Repeat([]int{1}, length), slices.Repeat([]int{-1}, length),
+			slices.Repeat([]int{9_973}, length), goOn(sample.Numbers(3, 1), sample.Numbers(3, 2), length),
 		} {
 			for size := range most + 2 {
-				checkArguments(t, row, numbers(size, 2))
+				checkArguments(t, row, sample.Numbers(size, 2))
 				checkArguments(t, row, slices.Repeat([]int{-1}, size))
 			}
 		}

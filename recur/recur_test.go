@@ -14,11 +14,6 @@ import (
 // all is how many terms Term knows, one more than Row returns.
 const all = 1_001
 
-// numbers returns elements that follow no plain rule.
-func numbers(length, seed int) []int {
-	return sample.Mixed(1, length, seed)[0]
-}
-
 // terms returns the first terms of a sequence. The terms that the next one needs
 // move on by one place each time, the last one first.
 func terms(factors, start []int, many int) []int {
@@ -163,8 +158,8 @@ func TestFirst(t *testing.T) {
 		{[]int{1, 2, 3, 4, 5}, []int{0, 0, 0, 0, 1}, []int{0, 0, 0, 0, 1, 1, 3, 8, 21, 55}},
 		{[]int{0, 0, 0, 0, 9_972}, []int{1, 2, 3, 4, 5}, []int{1, 2, 3, 4, 5, 9_972, 9_971, 9_970, 9_969, 9_968, 1, 2}},
 		{slices.Repeat([]int{9_972}, 5), slices.Repeat([]int{9_972}, 5), []int{9_972, 9_972, 9_972, 9_972, 9_972, 5, 9_972}},
-		{make([]int, 5), numbers(5, 1), append(numbers(5, 1), make([]int, 7)...)},
-		{numbers(5, 2), make([]int, 5), make([]int, 15)},
+		{make([]int, 5), sample.Numbers(5, 1), append(sample.Numbers(5, 1), make([]int, 7)...)},
+		{sample.Numbers(5, 2), make([]int, 5), make([]int, 15)},
 	} {
 		wantFirst(t, c.factors, c.start, c.want)
 		wantRight(t, c.factors, c.start)
@@ -197,7 +192,7 @@ func TestLast(t *testing.T) {
 // TestAllTerms has all lengths of rows and all indices.
 func TestAllTerms(t *testing.T) {
 	for size := 1; size <= 5; size++ {
-		factors, start := numbers(size, 3), numbers(size, 4)
+		factors, start := sample.Numbers(size, 3), sample.Numbers(size, 4)
 		want := wholeTerms(factors, start, all)
 		for many := range all {
 			wantRow(t, factors, start, many, want[:many])
@@ -212,7 +207,7 @@ func TestAllTerms(t *testing.T) {
 func TestWhole(t *testing.T) {
 	for size := 1; size <= 5; size++ {
 		for seed := range 50 {
-			factors, start := numbers(size, seed), numbers(size, seed+100)
+			factors, start := sample.Numbers(size, seed), sample.Numbers(size, seed+100)
 			wantFirst(t, factors, start, wholeTerms(factors, start, 30))
 		}
 		large := slices.Repeat([]int{9_972}, size)
@@ -225,7 +220,7 @@ func TestWhole(t *testing.T) {
 func TestAllSizes(t *testing.T) {
 	for size := 1; size <= 5; size++ {
 		for seed := range 50 {
-			wantRight(t, numbers(size, seed), numbers(size, seed+200))
+			wantRight(t, sample.Numbers(size, seed), sample.Numbers(size, seed+200))
 			for most := 1; most <= 3; most++ {
 				l := sample.Kind{Side: 5, Least: 0, Most: most}.Mixed(2, size, seed)
 				wantRight(t, l[0], l[1])
@@ -296,7 +291,7 @@ func TestPlaces(t *testing.T) {
 func TestSums(t *testing.T) {
 	for size := 1; size <= 5; size++ {
 		for seed := range 20 {
-			factors, start := numbers(size, seed), numbers(size, seed+100)
+			factors, start := sample.Numbers(size, seed), sample.Numbers(size, seed+100)
 			want := make([]int, 1_000)
 			for k, n := range start {
 				row, err := Row(factors, sample.Unit(size)[k], 1_000)
@@ -317,7 +312,7 @@ func TestSums(t *testing.T) {
 func TestRoots(t *testing.T) {
 	for size := 1; size <= 5; size++ {
 		for seed := range 20 {
-			roots, times := numbers(size, seed), numbers(size, seed+100)
+			roots, times := sample.Numbers(size, seed), sample.Numbers(size, seed+100)
 			row := make([]int, 40)
 			for at := range row {
 				for k, x := range roots {
@@ -340,7 +335,7 @@ func TestRoots(t *testing.T) {
 func TestLater(t *testing.T) {
 	for size := 1; size <= 5; size++ {
 		for seed := range 5 {
-			factors, start := numbers(size, seed), numbers(size, seed+100)
+			factors, start := sample.Numbers(size, seed), sample.Numbers(size, seed+100)
 			row, err := Row(factors, start, 1_000)
 			if err != nil {
 				t.Fatal(err)
@@ -372,7 +367,7 @@ func TestPeriods(t *testing.T) {
 
 // TestEmpty has no factors. That comes before what else there is.
 func TestEmpty(t *testing.T) {
-	for _, factors := range [][]int{nil, {}, numbers(5, 1)[:0]} {
+	for _, factors := range [][]int{nil, {}, sample.Numbers(5, 1)[:0]} {
 		for _, start := range [][]int{nil, {}, {0}, {1, 2}, {-1}, {9_973}, make([]int, 5), make([]int, 6), make([]int, 1_000)} {
 			wantBad(t, factors, start, api.ErrNone)
 		}
@@ -402,15 +397,15 @@ func TestShape(t *testing.T) {
 				continue
 			}
 			for _, n := range []int{0, 1, 9_972, -1, 9_973} {
-				wantBad(t, numbers(size, 1), slices.Repeat([]int{n}, length), api.ErrShape)
-				wantBad(t, slices.Repeat([]int{n}, size), numbers(length, 2), api.ErrShape)
+				wantBad(t, sample.Numbers(size, 1), slices.Repeat([]int{n}, length), api.ErrShape)
+				wantBad(t, slices.Repeat([]int{n}, size), sample.Numbers(length, 2), api.ErrShape)
 				wantBad(t, slices.Repeat([]int{n}, size), slices.Repeat([]int{n}, length), api.ErrShape)
 			}
 		}
-		wantBad(t, numbers(size, 3), nil, api.ErrShape)
+		wantBad(t, sample.Numbers(size, 3), nil, api.ErrShape)
 		// Spare capacity does not count.
-		wantBad(t, numbers(size, 3), numbers(size, 4)[:size-1], api.ErrShape)
-		wantBad(t, numbers(size+1, 3)[:size], numbers(size+1, 4), api.ErrShape)
+		wantBad(t, sample.Numbers(size, 3), sample.Numbers(size, 4)[:size-1], api.ErrShape)
+		wantBad(t, sample.Numbers(size+1, 3)[:size], sample.Numbers(size+1, 4), api.ErrShape)
 	}
 }
 
@@ -419,7 +414,7 @@ func TestRange(t *testing.T) {
 	for size := 1; size <= 5; size++ {
 		for i := range size {
 			for _, n := range sample.Outside() {
-				for _, good := range [][]int{numbers(size, 5), make([]int, size), slices.Repeat([]int{1}, size)} {
+				for _, good := range [][]int{sample.Numbers(size, 5), make([]int, size), slices.Repeat([]int{1}, size)} {
 					bad := slices.Clone(good)
 					bad[i] = n
 					wantBad(t, bad, good, api.ErrRange)
@@ -438,8 +433,8 @@ func TestRange(t *testing.T) {
 func TestLimits(t *testing.T) {
 	for size := 1; size <= 5; size++ {
 		for _, l := range [][][]int{
-			{numbers(size, 6), numbers(size, 7)}, {make([]int, size), numbers(size, 8)},
-			{numbers(size, 9), make([]int, size)}, sample.Filled(2, size, 1),
+			{sample.Numbers(size, 6), sample.Numbers(size, 7)}, {make([]int, size), sample.Numbers(size, 8)},
+			{sample.Numbers(size, 9), make([]int, size)}, sample.Filled(2, size, 1),
 		} {
 			factors, start := l[0], l[1]
 			for _, n := range []int{
@@ -496,8 +491,8 @@ func checkArguments(t *testing.T, factors, start []int, n int) {
 
 func TestArguments(t *testing.T) {
 	for size := 1; size <= 6; size++ {
-		for _, start := range [][]int{nil, numbers(size, 1), make([]int, size), make([]int, size+1), slices.Repeat([]int{-1}, size)} {
-			for _, factors := range [][]int{nil, numbers(size, 2), make([]int, size), slices.Repeat([]int{9_973}, size)} {
+		for _, start := range [][]int{nil, sample.Numbers(size, 1), make([]int, size), make([]int, size+1), slices.Repeat([]int{-1}, size)} {
+			for _, factors := range [][]int{nil, sample.Numbers(size, 2), make([]int, size), slices.Repeat([]int{9_973}, size)} {
 				for _, n := range []int{0, 1, size - 1, size, size + 1, 10, 1_000, 1_001, -1} {
 					checkArguments(t, factors, start, n)
 				}
@@ -509,7 +504,7 @@ func TestArguments(t *testing.T) {
 // TestSharedArguments has factors and initial terms that are the same memory, or
 // overlap.
 func TestSharedArguments(t *testing.T) {
-	line := numbers(8, 3)
+	line := sample.Numbers(8, 3)
 	before := slices.Clone(line)
 	for range 2 {
 		for size := 1; size <= 5; size++ {

@@ -75,6 +75,12 @@ func Mixed(rows, columns, seed int) [][]int {
 	return ofField().Mixed(rows, columns, seed)
 }
 
+// Numbers returns a list of elements of the field that follow no plain rule;
+// another seed makes another one.
+func Numbers(length, seed int) []int {
+	return Mixed(1, length, seed)[0]
+}
+
 // Invertible returns a square matrix that has an inverse, as it is the product
 // of matrices with no zero on the diagonal, and zeros above or below it.
 func Invertible(n, seed int) [][]int {

@@ -100,6 +100,20 @@ func TestMade(t *testing.T) {
 	}
 }
 
+func TestNumbers(t *testing.T) {
+	for length := range 20 {
+		for seed := range 3 {
+			got := Numbers(length, seed)
+			if len(got) != length || !slices.Equal(got, Mixed(1, length, seed)[0]) {
+				t.Errorf("Numbers(%d, %d) = %v", length, seed, got)
+			}
+		}
+	}
+	if slices.Equal(Numbers(5, 1), Numbers(5, 2)) {
+		t.Errorf("two seeds make the same numbers")
+	}
+}
+
 func TestAll(t *testing.T) {
 	for rows, columns := range (Kind{Side: 3}).Sizes() {
 		var seen [][]int
