@@ -24,36 +24,6 @@ func polynomial(m [][]int) []int {
 	return f
 }
 
-// product returns the product of two polynomials.
-func product(f, g []int) []int {
-	l := make([]int, len(f)+len(g)-1)
-	for i, a := range f {
-		for j, b := range g {
-			l[i+j] = (l[i+j] + a*b) % 9_973
-		}
-	}
-	return l
-}
-
-// withRoots returns the monic polynomial that has these roots.
-func withRoots(roots []int) []int {
-	f := []int{1}
-	for _, x := range roots {
-		f = product(f, []int{sample.Element(-x), 1})
-	}
-	return f
-}
-
-// value returns the value of a polynomial at x.
-func value(f []int, x int) int {
-	sum, power := 0, 1
-	for _, c := range f {
-		sum += c * power
-		power = power * x % 9_973
-	}
-	return sum % 9_973
-}
-
 // atMatrix returns the value of a polynomial at a matrix.
 func atMatrix(f []int, m [][]int) [][]int {
 	sum, power := sample.Filled(len(m), len(m), 0), sample.Unit(len(m))
@@ -215,7 +185,7 @@ func TestValues(t *testing.T) {
 				t.Fatalf("Of(%v) = %v, %v", m, f, err)
 			}
 			for _, x := range append(sample.UpTo(12), 4_986, 4_987, 9_971, 9_972, m[0][0], m[n-1][n-1]) {
-				if got, want := value(f, x), sample.Det(less(x, m)); got != want {
+				if got, want := sample.Value(f, x), sample.Det(less(x, m)); got != want {
 					t.Fatalf("Of(%v) = %v, which is %d at %d, want %d", m, f, got, x, want)
 				}
 			}
@@ -246,18 +216,18 @@ func TestPlainMatrices(t *testing.T) {
 			for i := range n {
 				times[i][i] = k
 			}
-			wantOf(t, times, withRoots(slices.Repeat([]int{k}, n)))
+			wantOf(t, times, sample.WithRoots(slices.Repeat([]int{k}, n)))
 			// All elements equal: the rank is 1.
 			roots := make([]int, n)
 			roots[0] = n * k % 9_973
-			wantOf(t, sample.Filled(n, n, k), withRoots(roots))
+			wantOf(t, sample.Filled(n, n, k), sample.WithRoots(roots))
 			for i := range n {
 				for j := range n {
 					roots[0] = 0
 					if i == j {
 						roots[0] = k
 					}
-					wantOf(t, sample.With(n, n, i, j, k), withRoots(roots))
+					wantOf(t, sample.With(n, n, i, j, k), sample.WithRoots(roots))
 				}
 			}
 		}
@@ -322,8 +292,8 @@ func TestTriangles(t *testing.T) {
 					clear(up[i][:i])
 					low[i][i], up[i][i] = roots[i], roots[i]
 				}
-				wantOf(t, low, withRoots(roots))
-				wantOf(t, up, withRoots(roots))
+				wantOf(t, low, sample.WithRoots(roots))
+				wantOf(t, up, sample.WithRoots(roots))
 			}
 		}
 	}
@@ -343,7 +313,7 @@ func TestZerosOnDiagonal(t *testing.T) {
 			for i := range n {
 				clear(m[i][:i])
 			}
-			wantOf(t, m, withRoots(make([]int, n)))
+			wantOf(t, m, sample.WithRoots(make([]int, n)))
 		}
 	}
 }
@@ -376,7 +346,7 @@ func TestBlocks(t *testing.T) {
 		for k := 1; n+k <= 5; k++ {
 			for seed := range 20 {
 				a, b := sample.Mixed(n, n, seed), sample.Mixed(k, k, seed+100)
-				want := product(polynomial(a), polynomial(b))
+				want := sample.Product(polynomial(a), polynomial(b))
 				wantOf(t, blocks(a, b, seed+200), want)
 				wantOf(t, sample.Turned(blocks(a, b, seed+200)), want)
 			}

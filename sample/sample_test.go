@@ -319,6 +319,59 @@ func TestFactorsOf(t *testing.T) {
 	}
 }
 
+func TestProduct(t *testing.T) {
+	for _, c := range []struct{ f, g, want []int }{
+		{[]int{0}, []int{7}, []int{0}},
+		{[]int{2}, []int{3}, []int{6}},
+		{[]int{1, 1}, []int{1, 1}, []int{1, 2, 1}},
+		{[]int{1, 1}, []int{9_972, 1}, []int{9_972, 0, 1}},
+		{[]int{0, 1}, []int{3, 4, 0}, []int{0, 3, 4, 0}},
+		{[]int{100, 9_972}, []int{100}, []int{27, 9_873}},
+		{[]int{1, 2, 3}, []int{4, 5, 6}, []int{4, 13, 28, 27, 18}},
+	} {
+		for _, pair := range [][2][]int{{c.f, c.g}, {c.g, c.f}} {
+			if got := Product(pair[0], pair[1]); !slices.Equal(got, c.want) {
+				t.Errorf("Product(%v, %v) = %v, want %v", pair[0], pair[1], got, c.want)
+			}
+		}
+	}
+}
+
+func TestWithRoots(t *testing.T) {
+	for _, c := range []struct{ roots, want []int }{
+		{nil, []int{1}},
+		{[]int{0}, []int{0, 1}},
+		{[]int{7}, []int{9_966, 1}},
+		{[]int{1, 1}, []int{1, 9_971, 1}},
+		{[]int{1, 9_972}, []int{9_972, 0, 1}},
+		{[]int{1, 2, 3}, []int{9_967, 11, 9_967, 1}},
+	} {
+		if got := WithRoots(c.roots); !slices.Equal(got, c.want) {
+			t.Errorf("WithRoots(%v) = %v, want %v", c.roots, got, c.want)
+		}
+	}
+}
+
+func TestValue(t *testing.T) {
+	for _, c := range []struct {
+		f       []int
+		x, want int
+	}{
+		{nil, 7, 0},
+		{[]int{7}, 0, 7},
+		{[]int{7, 1}, 0, 7},
+		{[]int{1, 2, 3}, 1, 6},
+		{[]int{1, 2, 3}, 10, 321},
+		{[]int{1, 2, 3}, 9_972, 2},
+		{[]int{0, 0, 1}, 100, 27},
+		{[]int{9_972, 9_972}, 9_972, 0},
+	} {
+		if got := Value(c.f, c.x); got != c.want {
+			t.Errorf("Value(%v, %d) = %d, want %d", c.f, c.x, got, c.want)
+		}
+	}
+}
+
 // errorOf returns the error that the document wants for a list of rows.
 func errorOf(k Kind, m [][]int) api.Errno {
 	if len(m) == 0 || len(m[0]) == 0 {
