@@ -3,10 +3,22 @@ package sample
 // Product returns the product of two polynomials over the field, the coefficients
 // of which are listed from the constant term on, and neither list is empty.
 func Product(f, g []int) []int {
+	return multiplyLists(f, g, Element)
+}
+
+// IntProduct returns the product of two polynomials with integer coefficients,
+// listed in the same way.
+func IntProduct(f, g []int) []int {
+	return multiplyLists(f, g, asItIs)
+}
+
+// multiplyLists returns the product of two polynomials, whose coefficients are all
+// reduced.
+func multiplyLists(f, g []int, reduced func(n int) int) []int {
 	l := make([]int, len(f)+len(g)-1)
 	for i, a := range f {
 		for j, b := range g {
-			l[i+j] = (l[i+j] + a*b) % 9_973
+			l[i+j] = reduced(l[i+j] + a*b)
 		}
 	}
 	return l

@@ -337,6 +337,23 @@ func TestProduct(t *testing.T) {
 	}
 }
 
+func TestIntProduct(t *testing.T) {
+	for _, c := range []struct{ f, g, want []int }{
+		{[]int{0}, []int{-7}, []int{0}},
+		{[]int{-2}, []int{3}, []int{-6}},
+		{[]int{-1, 1}, []int{1, 1}, []int{-1, 0, 1}},
+		{[]int{0, 1}, []int{3, -4, 0}, []int{0, 3, -4, 0}},
+		{[]int{9_972, 1}, []int{9_972}, []int{9_972 * 9_972, 9_972}},
+		{[]int{1, 2, 3}, []int{4, 5, 6}, []int{4, 13, 28, 27, 18}},
+	} {
+		for _, pair := range [][2][]int{{c.f, c.g}, {c.g, c.f}} {
+			if got := IntProduct(pair[0], pair[1]); !slices.Equal(got, c.want) {
+				t.Errorf("IntProduct(%v, %v) = %v, want %v", pair[0], pair[1], got, c.want)
+			}
+		}
+	}
+}
+
 func TestWithRoots(t *testing.T) {
 	for _, c := range []struct{ roots, want []int }{
 		{nil, []int{1}},
