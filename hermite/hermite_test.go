@@ -28,31 +28,9 @@ func few(n, seed int) [][]int {
 	return sample.Kind{Side: mostSide, Least: -1, Most: 1}.Mixed(n, n, seed)
 }
 
-// regular returns a matrix with a determinant other than 0; another seed may make
-// another one.
-func regular(n, seed int) [][]int {
-	for sample.IntDet(kind().Mixed(n, n, seed)) == 0 {
-		seed += 1_000
-	}
-	return kind().Mixed(n, n, seed)
-}
-
 // point returns numbers that may be in a lattice.
 func point(n, seed int) []int {
 	return points().Mixed(1, n, seed)[0]
-}
-
-// inLattice tells whether x is in the row lattice of m, whose determinant is not
-// 0, by the rule of Cramer: the factor of a row is a quotient of determinants.
-func inLattice(m [][]int, x []int) bool {
-	for i := range m {
-		replaced := slices.Clone(m)
-		replaced[i] = x
-		if sample.IntDet(replaced)%sample.IntDet(m) != 0 {
-			return false
-		}
-	}
-	return true
 }
 
 // normal tells whether m is a Hermite normal form.
@@ -72,7 +50,7 @@ func normal(m [][]int) bool {
 // same row lattice: each has the rows of the other one.
 func sameLattice(a, b [][]int) bool {
 	for i := range a {
-		if !inLattice(a, b[i]) || !inLattice(b, a[i]) {
+		if !sample.InLattice(a, b[i]) || !sample.InLattice(b, a[i]) {
 			return false
 		}
 	}
@@ -134,7 +112,7 @@ func wantHas(t *testing.T, m [][]int, x []int, want bool) {
 // wantCramer fails the test unless Has tells what the rule of Cramer says.
 func wantCramer(t *testing.T, m [][]int, x []int) {
 	t.Helper()
-	wantHas(t, m, x, inLattice(m, x))
+	wantHas(t, m, x, sample.InLattice(m, x))
 }
 
 // wantSameError fails the test unless Same returns nothing but this error.
@@ -179,46 +157,6 @@ func wantBad(t *testing.T, m [][]int, want api.Errno) {
 // badMatrices returns a matrix for each error.
 func badMatrices() [][][]int {
 	return [][][]int{nil, sample.Unit(4), {{1, 0}, {0}}, {{21}}, {{1, 2}}, {{0}}}
-}
-
-// moves returns matrices with the same row lattice as m, made by exchanges,
-// negations and sums of rows, as long as their elements are small enough.
-func moves(m [][]int, seed int) [][][]int {
-	var l [][][]int
-	for step, n := range (sample.Kind{Side: 1, Least: 0, Most: 999}).Mixed(1, 30, seed)[0] {
-		m = sample.Clone(m)
-		i, k := n%len(m), n/7%len(m)
-		switch {
-		case step%3 == 0:
-			m[i], m[k] = m[k], m[i]
-		case i == k:
-			m[i] = multiple(m[i], -1)
-		default:
-			sum := plus(m[i], multiple(m[k], n/50%5-2))
-			if slices.Max(sum) > 20 || slices.Min(sum) < -20 {
-				continue
-			}
-			m[i] = sum
-		}
-		l = append(l, m)
-	}
-	return l
-}
-
-// moved returns the last of the moves of m.
-func moved(m [][]int, seed int) [][]int {
-	l := moves(m, seed)
-	return l[len(l)-1]
-}
-
-// multiple returns a row times a number.
-func multiple(row []int, by int) []int {
-	return sample.IntMul([][]int{{by}}, [][]int{row})[0]
-}
-
-// plus returns the sum of two rows.
-func plus(a, b []int) []int {
-	return sample.IntMul([][]int{{1, 1}}, [][]int{a, b})[0]
 }
 
 // forms returns all normal forms that have at most this on their diagonals.
@@ -441,7 +379,7 @@ func TestForms(t *testing.T) {
 	for _, c := range []struct{ size, most int }{{1, 20}, {2, 12}, {3, 4}} {
 		for seed, form := range forms(c.size, c.most) {
 			wantForm(t, form, form)
-			for _, m := range moves(form, seed) {
+			for _, m := range kind().Moves(form, seed) {
 				wantForm(t, m, form)
 				wantSame(t, m, form, true)
 			}
@@ -456,7 +394,7 @@ func TestDifferentForms(t *testing.T) {
 		all := forms(c.size, c.most)
 		for i, m := range all {
 			for k, other := range all {
-				wantSame(t, moved(m, k), moved(other, i), i == k)
+				wantSame(t, kind().Moved(m, k), kind().Moved(other, i), i == k)
 			}
 		}
 	}
@@ -493,16 +431,16 @@ func TestNumberOfLattices(t *testing.T) {
 func TestMoves(t *testing.T) {
 	for n := 1; n <= mostSide; n++ {
 		for seed := range 200 {
-			m := regular(n, seed)
+			m := kind().Regular(n, seed)
 			want, err := Form(m)
 			if err != nil {
 				t.Fatalf("Form(%v) has error %v", m, err)
 			}
-			for _, other := range append(moves(m, seed), sample.Orders(m)...) {
+			for _, other := range append(kind().Moves(m, seed), sample.Orders(m)...) {
 				wantForm(t, other, want)
 				wantSame(t, m, other, true)
 			}
-			other := regular(n, seed+300)
+			other := kind().Regular(n, seed+300)
 			wantSame(t, m, other, sameLattice(m, other))
 			turned := sample.Turned(m)
 			wantSame(t, m, turned, sameLattice(m, turned))
@@ -517,7 +455,7 @@ func TestMoves(t *testing.T) {
 			for i := range m {
 				for by := 2; by <= 20; by++ {
 					more := sample.Clone(m)
-					more[i] = multiple(m[i], by)
+					more[i] = sample.Multiple(m[i], by)
 					wantNormal(t, more)
 					wantSame(t, m, more, false)
 				}
@@ -545,11 +483,11 @@ func TestNearPoints(t *testing.T) {
 			from, to = -4, 4
 		}
 		for seed := range 20 {
-			m := regular(n, seed)
+			m := kind().Regular(n, seed)
 			if seed%2 == 1 {
 				// More points are in a lattice of small rows.
 				small := forms(n, 3)
-				m = moved(small[seed%len(small)], seed)
+				m = kind().Moved(small[seed%len(small)], seed)
 			}
 			var near []int
 			for x := from; x <= to; x++ {
@@ -567,7 +505,7 @@ func TestNearPoints(t *testing.T) {
 func TestSumsOfRows(t *testing.T) {
 	for n := 1; n <= mostSide; n++ {
 		for seed := range 300 {
-			m := regular(n, seed)
+			m := kind().Regular(n, seed)
 			for by := range sample.All(1, n, -2, -1, 0, 1, 2) {
 				x := sample.IntMul(by, m)[0]
 				if slices.Max(x) > 100 || slices.Min(x) < -100 {
@@ -592,7 +530,7 @@ func TestFarPoints(t *testing.T) {
 	for n := 1; n <= mostSide; n++ {
 		for seed := range 200 {
 			small := forms(n, 3)
-			for _, m := range [][][]int{regular(n, seed), moved(small[seed%len(small)], seed)} {
+			for _, m := range [][][]int{kind().Regular(n, seed), kind().Moved(small[seed%len(small)], seed)} {
 				for x := range sample.All(1, n, -100, -99, 99, 100) {
 					wantCramer(t, m, x[0])
 				}
@@ -667,43 +605,16 @@ func TestNotSquare(t *testing.T) {
 	wantBad(t, [][]int{{1, 2}, {3, 4}, {5, -21}}, api.ErrRange)
 }
 
-// TestClash has determinants that are 0: rows of zeros, equal rows, sums of rows,
-// and the same for columns.
+// TestClash has determinants that are 0. An element that may not be comes before
+// that, and so does the number of rows and elements.
 func TestClash(t *testing.T) {
-	for n := 1; n <= mostSide; n++ {
-		for k := -20; k <= 20; k++ {
-			if n > 1 || k == 0 {
-				wantBad(t, sample.Filled(n, n, k), api.ErrClash)
-			}
-			for i := range n {
-				for j := range n {
-					if n > 1 || k == 0 {
-						wantBad(t, sample.With(n, n, i, j, k), api.ErrClash)
-					}
-				}
-			}
-		}
-		for seed := range 20 {
-			for i := range n {
-				m := kind().Mixed(n, n, seed)
-				clear(m[i])
-				wantBad(t, m, api.ErrClash)
-				wantBad(t, sample.Turned(m), api.ErrClash)
-				// An element that may not be comes before, and so does the number
-				// of rows and elements.
-				m[n-1][n-1] = 21
-				wantBad(t, m, api.ErrRange)
-				m[n-1] = m[n-1][:n-1]
-				if n > 1 {
-					wantBad(t, m, api.ErrShape)
-				}
-				for k := range i {
-					m := kind().Mixed(n, n, seed)
-					m[i] = multiple(m[k], 1-seed%3)
-					wantBad(t, m, api.ErrClash)
-					wantBad(t, sample.Turned(m), api.ErrClash)
-				}
-			}
+	for m := range kind().Singular() {
+		wantBad(t, m, api.ErrClash)
+		last := len(m) - 1
+		m[last][last] = 21
+		wantBad(t, m, api.ErrRange)
+		if m[last] = m[last][:last]; last > 0 {
+			wantBad(t, m, api.ErrShape)
 		}
 	}
 	wantBad(t, [][]int{{2, 4}, {3, 6}}, api.ErrClash)
@@ -718,7 +629,7 @@ func TestLimits(t *testing.T) {
 		for i := range n {
 			for j := range n {
 				for _, k := range kind().Outside() {
-					m := regular(n, 7)
+					m := kind().Regular(n, 7)
 					m[i][j] = k
 					wantBad(t, m, api.ErrRange)
 					m = sample.Unit(n)
@@ -739,8 +650,8 @@ func TestSameErrors(t *testing.T) {
 			wantSameError(t, m, k, want[i])
 		}
 		for n := 1; n <= mostSide; n++ {
-			wantSameError(t, m, regular(n, i), want[i])
-			wantSameError(t, regular(n, i), m, want[i])
+			wantSameError(t, m, kind().Regular(n, i), want[i])
+			wantSameError(t, kind().Regular(n, i), m, want[i])
 		}
 	}
 	for n := 1; n <= mostSide; n++ {
@@ -750,9 +661,9 @@ func TestSameErrors(t *testing.T) {
 			}
 			wantSameError(t, sample.Unit(n), sample.Unit(k), api.ErrShape)
 			for seed := range 20 {
-				wantSameError(t, regular(n, seed), regular(k, seed), api.ErrShape)
-				wantSameError(t, regular(n, seed), sample.Filled(k, k, 0), api.ErrClash)
-				wantSameError(t, sample.Filled(n, n, 0), regular(k, seed), api.ErrClash)
+				wantSameError(t, kind().Regular(n, seed), kind().Regular(k, seed), api.ErrShape)
+				wantSameError(t, kind().Regular(n, seed), sample.Filled(k, k, 0), api.ErrClash)
+				wantSameError(t, sample.Filled(n, n, 0), kind().Regular(k, seed), api.ErrClash)
 			}
 		}
 	}
@@ -762,7 +673,7 @@ func TestSameErrors(t *testing.T) {
 // are.
 func TestPointShape(t *testing.T) {
 	for n := 1; n <= mostSide; n++ {
-		for _, m := range [][][]int{regular(n, 1), sample.Unit(n)} {
+		for _, m := range [][][]int{kind().Regular(n, 1), sample.Unit(n)} {
 			for _, length := range []int{0, 1, 2, 3, 4, 5, 6, 100} {
 				if length == n {
 					continue
@@ -782,7 +693,7 @@ func TestPointShape(t *testing.T) {
 func TestPointRange(t *testing.T) {
 	for n := 1; n <= mostSide; n++ {
 		for i := range n {
-			for _, m := range [][][]int{regular(n, 1), sample.Unit(n)} {
+			for _, m := range [][][]int{kind().Regular(n, 1), sample.Unit(n)} {
 				for _, k := range points().Outside() {
 					x := point(n, 2)
 					x[i] = k
@@ -857,8 +768,8 @@ func TestArguments(t *testing.T) {
 				m := kind().Mixed(rows, columns, seed)
 				checkArguments(t, m, kind().Mixed(columns, rows, seed+1), x)
 				checkArguments(t, m, sample.Unit(rows), x)
-				checkArguments(t, regular(rows, seed), regular(rows, seed), x)
-				checkArguments(t, regular(rows, seed), regular(columns, seed), x)
+				checkArguments(t, kind().Regular(rows, seed), kind().Regular(rows, seed), x)
+				checkArguments(t, kind().Regular(rows, seed), kind().Regular(columns, seed), x)
 			}
 			checkArguments(t, sample.Unit(rows), sample.Unit(rows), x)
 			checkArguments(t, sample.Filled(rows, columns, 0), sample.Unit(rows), x)

@@ -202,6 +202,93 @@ func TestIntDet(t *testing.T) {
 	}
 }
 
+func TestRegular(t *testing.T) {
+	for _, k := range kinds() {
+		for n := 1; n <= k.Side; n++ {
+			for seed := range 100 {
+				m := k.Regular(n, seed)
+				if len(m) != n || errorOf(k, m) != api.OK || IntDet(m) == 0 {
+					t.Fatalf("Regular(%d, %d) of %v is %v", n, seed, k, m)
+				}
+			}
+		}
+		if Same(k.Regular(k.Side, 1), k.Regular(k.Side, 2)) && k.Most > 1 {
+			t.Errorf("two seeds make the same matrix of %v", k)
+		}
+	}
+}
+
+func TestSingular(t *testing.T) {
+	for _, k := range kinds()[1:] {
+		sizes, zeros := map[int]int{}, 0
+		for m := range k.Singular() {
+			if len(m) != len(m[0]) || errorOf(k, m) != api.OK || IntDet(m) != 0 {
+				t.Fatalf("Singular of %v has %v", k, m)
+			}
+			sizes[len(m)]++
+			if slices.Contains(slices.Concat(m...), 0) {
+				zeros++
+			}
+		}
+		if len(sizes) != k.Side || zeros == 0 || k.Side > 1 && zeros == sizes[1]+sizes[k.Side] {
+			t.Errorf("there are %v singular matrices of %v, %d of them with zeros", sizes, k, zeros)
+		}
+		for range k.Singular() {
+			break
+		}
+	}
+}
+
+func TestMoves(t *testing.T) {
+	for _, k := range kinds()[1:] {
+		for n := 1; n <= k.Side; n++ {
+			m := k.Regular(n, 1)
+			size := IntDet(m)
+			for seed := range 100 {
+				l := k.Moves(m, seed)
+				for _, moved := range l {
+					if got := IntDet(moved); errorOf(k, moved) != api.OK || got != size && got != -size {
+						t.Fatalf("Moves(%v, %d) of %v has %v", m, seed, k, moved)
+					}
+				}
+				if !Same(k.Moved(m, seed), l[len(l)-1]) {
+					t.Fatalf("Moved(%v, %d) is not the last of the moves", m, seed)
+				}
+			}
+			if n > 1 && Same(k.Moved(m, 1), m) {
+				t.Errorf("the moves of %v leave it as it is", m)
+			}
+		}
+	}
+}
+
+func TestMultiple(t *testing.T) {
+	row := []int{3, 0, -4}
+	if got := Multiple(row, -2); !slices.Equal(got, []int{-6, 0, 8}) || !slices.Equal(row, []int{3, 0, -4}) {
+		t.Errorf("Multiple returns %v and leaves %v", got, row)
+	}
+}
+
+func TestInLattice(t *testing.T) {
+	for _, c := range []struct {
+		m    [][]int
+		x    []int
+		want bool
+	}{
+		{[][]int{{-3}}, []int{6}, true},
+		{[][]int{{-3}}, []int{5}, false},
+		{[][]int{{2, 1}, {0, 3}}, []int{-2, 2}, true},
+		{[][]int{{2, 1}, {0, 3}}, []int{-2, 1}, false},
+		{[][]int{{2, 1}, {0, 3}}, []int{1, 2}, false},
+		{[][]int{{2, 1, 1}, {1, 2, 1}, {1, 1, 2}}, []int{1, 0, -1}, true},
+		{[][]int{{2, 1, 1}, {1, 2, 1}, {1, 1, 2}}, []int{1, 0, 0}, false},
+	} {
+		if got := InLattice(c.m, c.x); got != c.want {
+			t.Errorf("InLattice(%v, %v) = %v", c.m, c.x, got)
+		}
+	}
+}
+
 func TestRank(t *testing.T) {
 	for _, c := range []struct {
 		m    [][]int
