@@ -321,13 +321,7 @@ func TestOthers(t *testing.T) {
 				}
 			}
 			for many := range len(want) + 1 {
-				var got []int
-				for n := range others([]int{10, 11, 12, 13, 14}[:size], out) {
-					if len(got) == many {
-						break
-					}
-					got = append(got, n)
-				}
+				got := sample.First(others([]int{10, 11, 12, 13, 14}[:size], out), many)
 				if !slices.Equal(got, want[:many]) {
 					t.Fatalf("the first %d of %d elements without number %d are %v", many, size, out, got)
 				}

@@ -374,6 +374,23 @@ func TestOrdersOf(t *testing.T) {
 	}
 }
 
+func TestFirst(t *testing.T) {
+	for _, c := range []struct{ many, want, tried int }{{0, 0, 1}, {1, 1, 2}, {3, 3, 4}, {4, 4, 4}, {5, 4, 4}} {
+		tried := 0
+		got := First(func(yield func(int) bool) {
+			for _, n := range []int{9, 7, 7, 5} {
+				tried++
+				if !yield(n) {
+					return
+				}
+			}
+		}, c.many)
+		if !slices.Equal(got, []int{9, 7, 7, 5}[:c.want]) || tried != c.tried {
+			t.Errorf("the first %d are %v, of %d", c.many, got, tried)
+		}
+	}
+}
+
 func TestElement(t *testing.T) {
 	for _, c := range [][2]int{{0, 0}, {7, 7}, {9_972, 9_972}, {9_973, 0}, {-1, 9_972}, {-9_973, 0}, {99_735, 5}} {
 		if got := Element(c[0]); got != c[1] {

@@ -623,13 +623,7 @@ func TestMinors(t *testing.T) {
 			}
 		}
 		for many := range len(want) + 1 {
-			var got []int
-			for n := range minors(m, size) {
-				if len(got) == many {
-					break
-				}
-				got = append(got, n)
-			}
+			got := sample.First(minors(m, size), many)
 			if !slices.Equal(got, want[:many]) {
 				t.Fatalf("the first %d minors of size %d are %v, want %v", many, size, got, want[:many])
 			}

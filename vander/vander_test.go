@@ -402,13 +402,8 @@ func TestPowers(t *testing.T) {
 		if got := slices.Collect(powers(c.x, c.many)); !slices.Equal(got, c.want) {
 			t.Errorf("the powers of %d are %v, want %v", c.x, got, c.want)
 		}
-		for many := 1; many <= len(c.want); many++ {
-			var got []int
-			for power := range powers(c.x, c.many) {
-				if got = append(got, power); len(got) == many {
-					break
-				}
-			}
+		for many := range len(c.want) + 1 {
+			got := sample.First(powers(c.x, c.many), many)
 			if !slices.Equal(got, c.want[:many]) {
 				t.Errorf("the first powers of %d are %v, want %v", c.x, got, c.want[:many])
 			}
