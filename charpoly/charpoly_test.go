@@ -63,21 +63,6 @@ func companion(f []int) [][]int {
 	return m
 }
 
-// blocks returns a matrix with two others on its diagonal, zeros below them and
-// other numbers above them.
-func blocks(a, b [][]int, seed int) [][]int {
-	size := len(a) + len(b)
-	m := sample.Mixed(size, size, seed)
-	for i, row := range a {
-		copy(m[i], row)
-	}
-	for i, row := range b {
-		clear(m[len(a)+i])
-		copy(m[len(a)+i][len(a):], row)
-	}
-	return m
-}
-
 // wantTrace fails the test unless Trace returns this and no error.
 func wantTrace(t *testing.T, m [][]int, want int) {
 	t.Helper()
@@ -347,8 +332,9 @@ func TestBlocks(t *testing.T) {
 			for seed := range 20 {
 				a, b := sample.Mixed(n, n, seed), sample.Mixed(k, k, seed+100)
 				want := sample.Product(polynomial(a), polynomial(b))
-				wantOf(t, blocks(a, b, seed+200), want)
-				wantOf(t, sample.Turned(blocks(a, b, seed+200)), want)
+				m := sample.Blocks(a, b, sample.Mixed(n, k, seed+200))
+				wantOf(t, m, want)
+				wantOf(t, sample.Turned(m), want)
 			}
 		}
 	}

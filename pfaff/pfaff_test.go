@@ -60,18 +60,6 @@ func all(n int, elements []int, f func(m [][]int)) {
 	}
 }
 
-// block returns a matrix that has a and b on its diagonal.
-func block(a, b [][]int) [][]int {
-	m := sample.Filled(len(a)+len(b), len(a)+len(b), 0)
-	for i, row := range a {
-		copy(m[i], row)
-	}
-	for i, row := range b {
-		copy(m[len(a)+i][len(a):], row)
-	}
-	return m
-}
-
 // signed is a partition into pairs, listed one behind the other, with its sign.
 type signed struct {
 	order []int
@@ -409,7 +397,7 @@ func TestBlocks(t *testing.T) {
 		for rest := 1; n+rest <= mostRows; rest++ {
 			for seed := range 50 {
 				a, b := mixed(n, seed), mixed(rest, seed+100)
-				wantOf(t, block(a, b), gotOf(t, a)*gotOf(t, b))
+				wantOf(t, sample.Blocks(a, b, sample.Filled(n, rest, 0)), gotOf(t, a)*gotOf(t, b))
 			}
 		}
 	}

@@ -205,6 +205,19 @@ func Part(m [][]int, rows, columns []int) [][]int {
 	return l
 }
 
+// Blocks returns a matrix with two square ones on its diagonal, zeros below them and
+// a third one above them.
+func Blocks(a, b, above [][]int) [][]int {
+	var m [][]int
+	for i, row := range a {
+		m = append(m, slices.Concat(row, above[i]))
+	}
+	for _, row := range b {
+		m = append(m, slices.Concat(make([]int, len(a)), row))
+	}
+	return m
+}
+
 // Subsets returns all lists of this many numbers below n in increasing order.
 func Subsets(n, many int) [][]int {
 	var l [][]int

@@ -155,6 +155,18 @@ func TestPart(t *testing.T) {
 	}
 }
 
+func TestBlocks(t *testing.T) {
+	for _, c := range []struct{ a, b, above, want [][]int }{
+		{[][]int{{1}}, [][]int{{2}}, [][]int{{3}}, [][]int{{1, 3}, {0, 2}}},
+		{[][]int{{1}}, [][]int{{2, 3}, {4, 5}}, [][]int{{6, 7}}, [][]int{{1, 6, 7}, {0, 2, 3}, {0, 4, 5}}},
+		{[][]int{{1, 2}, {3, 4}}, [][]int{{5}}, [][]int{{6}, {7}}, [][]int{{1, 2, 6}, {3, 4, 7}, {0, 0, 5}}},
+	} {
+		if got := Blocks(c.a, c.b, c.above); !Same(got, c.want) {
+			t.Errorf("Blocks(%v, %v, %v) = %v, want %v", c.a, c.b, c.above, got, c.want)
+		}
+	}
+}
+
 func TestDet(t *testing.T) {
 	for _, c := range []struct {
 		m    [][]int
